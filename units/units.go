@@ -115,10 +115,11 @@ func white(u uint16) bool {
 	case 9, 11, 12, 0xfeff:
 		return true
 	}
-	return endsLine(u) || unicode.Is(unicode.Zs, rune(u))
+	return EndsLine(u) || unicode.Is(unicode.Zs, rune(u))
 }
 
-func endsLine(u uint16) bool {
+// EndsLine: of a unit: whether it ends a line.
+func EndsLine(u uint16) bool {
 	switch u {
 	case 10, 13, 0x2028, 0x2029:
 		return true
