@@ -47,10 +47,10 @@ func Lower(s string) string { return mapped(s, unicode.ToLower) }
 // Trim: without white space at its ends.
 func Trim(s string) string {
 	l := Units(s)
-	for len(l) > 0 && white(l[0]) {
+	for len(l) > 0 && White(l[0]) {
 		l = l[1:]
 	}
-	for len(l) > 0 && white(l[len(l)-1]) {
+	for len(l) > 0 && White(l[len(l)-1]) {
 		l = l[:len(l)-1]
 	}
 	return Text(l)
@@ -110,7 +110,8 @@ func appendText(b []byte, r rune) []byte {
 	return utf8.AppendRune(b, r)
 }
 
-func white(u uint16) bool {
+// White: of a unit: whether it is white space.
+func White(u uint16) bool {
 	switch u {
 	case 9, 11, 12, 0xfeff:
 		return true
