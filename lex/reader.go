@@ -12,25 +12,30 @@ import (
 // none stands for the code point at the end of a text.
 const none rune = -1
 
-// reader goes through a text; what is wrong there it throws.
-type reader struct {
-	s  string
-	at int
+// Reader goes through a text; what is wrong there it throws, up to its face. Which words are keywords, and which signs there are, it gathers when it first needs them.
+type Reader struct {
+	s     string
+	at    int
+	words map[string]int
+	signs map[string]int
 }
 
-func (r *reader) next(slash bool) api.Token {
+func (r *Reader) next(slash bool) api.Token {
 	line := r.blanks()
 	from := r.at
 	t := r.token(slash)
 	t.From, t.To, t.Line = from, r.at, line
-	if len(units.Units(t.Text)) > api.MaxString {
+	if tooLong(t.Text) {
 		panic(wrong(from))
 	}
 	return t
 }
 
+// tooLong counts units only where the bytes, of which there are no fewer, are too many.
+func tooLong(s string) bool { return len(s) > api.MaxString && len(units.Units(s)) > api.MaxString }
+
 // token: of what it is, its place is told by next.
-func (r *reader) token(slash bool) api.Token {
+func (r *Reader) token(slash bool) api.Token {
 	c, _ := r.look()
 	switch {
 	case c == none:
@@ -48,7 +53,7 @@ func (r *reader) token(slash bool) api.Token {
 }
 
 // look: the code point at the place, and how many bytes it takes.
-func (r *reader) look() (rune, int) {
+func (r *Reader) look() (rune, int) {
 	if r.at == len(r.s) {
 		return none, 0
 	}
@@ -60,14 +65,14 @@ func (r *reader) look() (rune, int) {
 }
 
 // pass: the code point at the place, which is then behind it.
-func (r *reader) pass() rune {
+func (r *Reader) pass() rune {
 	c, n := r.look()
 	r.at += n
 	return c
 }
 
 // passInLine: likewise, in a token from that byte on, in which no line may end.
-func (r *reader) passInLine(from int) rune {
+func (r *Reader) passInLine(from int) rune {
 	c := r.pass()
 	if c == none || endsLine(c) {
 		panic(wrong(from))
@@ -76,7 +81,7 @@ func (r *reader) passInLine(from int) rune {
 }
 
 // passAny: is it one of these bytes that stands here? Then it is passed.
-func (r *reader) passAny(these string) bool {
+func (r *Reader) passAny(these string) bool {
 	ok := r.at < len(r.s) && strings.IndexByte(these, r.s[r.at]) >= 0
 	if ok {
 		r.at++
@@ -84,12 +89,12 @@ func (r *reader) passAny(these string) bool {
 	return ok
 }
 
-func (r *reader) begins(with string) bool { return strings.HasPrefix(r.s[r.at:], with) }
+func (r *Reader) begins(with string) bool { return strings.HasPrefix(r.s[r.at:], with) }
 
-func (r *reader) digitAt(at int) bool { return at < len(r.s) && '0' <= r.s[at] && r.s[at] <= '9' }
+func (r *Reader) digitAt(at int) bool { return at < len(r.s) && '0' <= r.s[at] && r.s[at] <= '9' }
 
 // blanks passes white space and comments; does a line end in them?
-func (r *reader) blanks() bool {
+func (r *Reader) blanks() bool {
 	line := false
 	for {
 		switch c, n := r.look(); {
@@ -107,7 +112,7 @@ func (r *reader) blanks() bool {
 }
 
 // lineComment leaves the end of the line to what comes then: it is white space that ends one.
-func (r *reader) lineComment() {
+func (r *Reader) lineComment() {
 	for {
 		c, n := r.look()
 		if c == none || endsLine(c) {
@@ -118,7 +123,7 @@ func (r *reader) lineComment() {
 }
 
 // comment: does a line end in it?
-func (r *reader) comment() bool {
+func (r *Reader) comment() bool {
 	from := r.at
 	line := false
 	for r.at += len("/*"); !r.begins("*/"); {
@@ -133,7 +138,7 @@ func (r *reader) comment() bool {
 }
 
 // hex: the unit that so many digits to the base 16 tell.
-func (r *reader) hex(n int) uint16 {
+func (r *Reader) hex(n int) uint16 {
 	from := r.at
 	for range n {
 		if !r.passAny(hexDigits) {

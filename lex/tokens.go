@@ -15,7 +15,7 @@ const (
 	hexDigits = digits + "abcdefABCDEF"
 )
 
-func (r *reader) name() api.Token {
+func (r *Reader) name() api.Token {
 	t := api.Token{Kind: api.TName, Plain: true}
 	var b []byte
 	for may := beginsName; ; may = goesOnName {
@@ -30,14 +30,21 @@ func (r *reader) name() api.Token {
 		r.at += n
 	}
 	t.Text = string(b)
-	if Keyword(t.Text) {
+	if r.keyword(t.Text) {
 		t.Kind = api.TKeyword
 	}
 	return t
 }
 
+func (r *Reader) keyword(s string) bool {
+	if r.words == nil {
+		r.words = kinds(keywords, api.TKeyword)
+	}
+	return r.words[s] == api.TKeyword
+}
+
 // nameEscape passes it; what it stands for must be one that may stand here.
-func (r *reader) nameEscape(may func(rune) bool) rune {
+func (r *Reader) nameEscape(may func(rune) bool) rune {
 	from := r.at
 	if !r.begins(`\u`) {
 		panic(wrong(from))
@@ -58,7 +65,7 @@ func goesOnName(c rune) bool {
 	return beginsName(c) || unicode.In(c, unicode.Mn, unicode.Mc, unicode.Nd, unicode.Pc) || c == 0x200c || c == 0x200d
 }
 
-func (r *reader) number() api.Token {
+func (r *Reader) number() api.Token {
 	from := r.at
 	if r.begins("0x") || r.begins("0X") {
 		r.at += len("0x")
@@ -72,7 +79,7 @@ func (r *reader) number() api.Token {
 	return api.Token{Kind: api.TNumber, Num: num.Read(r.s[from:r.at])}
 }
 
-func (r *reader) decimal() {
+func (r *Reader) decimal() {
 	from := r.at
 	if r.manyOf(digits) > 1 && r.s[from] == '0' {
 		panic(wrong(from))
@@ -87,7 +94,7 @@ func (r *reader) decimal() {
 }
 
 // manyOf passes as many of these bytes as stand here, and tells how many.
-func (r *reader) manyOf(these string) int {
+func (r *Reader) manyOf(these string) int {
 	from := r.at
 	for r.passAny(these) {
 	}
@@ -95,13 +102,13 @@ func (r *reader) manyOf(these string) int {
 }
 
 // someOf: likewise, but one must stand here.
-func (r *reader) someOf(these string) {
+func (r *Reader) someOf(these string) {
 	if r.manyOf(these) == 0 {
 		panic(wrong(r.at))
 	}
 }
 
-func (r *reader) text() api.Token {
+func (r *Reader) text() api.Token {
 	from := r.at
 	quote := r.pass()
 	t := api.Token{Kind: api.TString, Plain: true}
@@ -119,7 +126,7 @@ func (r *reader) text() api.Token {
 }
 
 // textEscape: what the escape whose stroke was passed stands for, in a string from that byte on.
-func (r *reader) textEscape(from int) string {
+func (r *Reader) textEscape(from int) string {
 	stroke := r.at - 1
 	switch c := r.pass(); c {
 	case none:
@@ -156,7 +163,7 @@ func (r *reader) textEscape(from int) string {
 	}
 }
 
-func (r *reader) pattern() api.Token {
+func (r *Reader) pattern() api.Token {
 	from := r.at
 	r.pass()
 	r.patternBody(from)
@@ -170,7 +177,7 @@ func (r *reader) pattern() api.Token {
 }
 
 // patternBody passes what stands ahead of the slash that ends the pattern from that byte on.
-func (r *reader) patternBody(from int) {
+func (r *Reader) patternBody(from int) {
 	for class := false; class || !r.begins("/"); {
 		switch r.passInLine(from) {
 		case '\\':
@@ -184,11 +191,13 @@ func (r *reader) patternBody(from int) {
 }
 
 // sign: the longest that stands here.
-func (r *reader) sign() api.Token {
-	all := kinds(signs, api.TPunct)
+func (r *Reader) sign() api.Token {
+	if r.signs == nil {
+		r.signs = kinds(signs, api.TPunct)
+	}
 	for n := min(longestSign, len(r.s)-r.at); n > 0; n-- {
 		text := r.s[r.at : r.at+n]
-		if all[text] == api.TPunct {
+		if r.signs[text] == api.TPunct {
 			r.at += n
 			return api.Token{Kind: api.TPunct, Text: strings.Clone(text)}
 		}
