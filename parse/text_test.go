@@ -270,6 +270,11 @@ func TestWriteDeep(t *testing.T) {
 	bad := wide(most)
 	bad.Kids[most-2] = nil
 	mustNotWrite(t, api.ErrSyntax, bad)
+	// what is met first, from the left, counts
+	endless := node(api.NBlock, "")
+	endless.Kids = []*api.Node{endless}
+	mustNotWrite(t, api.ErrSyntax, node(api.NProgram, "", nil, endless), node(api.NProgram, "", node(api.NBlock, "", nil), endless))
+	mustNotWrite(t, api.ErrDeep, node(api.NProgram, "", endless, nil))
 	for _, depth := range []int{1, 60, 118} {
 		mustWrite(t, program(nested(api.NUnary, "-", depth, name("a"))))
 		mustWrite(t, program(nested(api.NArray, "", depth, name("a"))))

@@ -9,22 +9,19 @@ import (
 // maxNodes: of a tree that is written.
 const maxNodes = 1 << 18
 
-// tooLarge: has a tree more nodes than may be written? One that lies in itself has. (What is missing counts, so that looking for it ends.)
-func tooLarge(n *api.Node) bool {
-	left := maxNodes - 1
-	for todo := []*api.Node{n}; len(todo) > 0; {
-		n := todo[len(todo)-1]
-		todo = todo[:len(todo)-1]
-		if n == nil {
-			continue
-		}
-		if len(n.Kids) > left {
-			return true
-		}
-		left -= len(n.Kids)
-		todo = append(todo, n.Kids...)
+// count throws, if the tree is not all there, or is larger than may be written, as one is that lies in itself. nodes: how many were counted ahead of it; with it, they are what it answers.
+func count(n *api.Node, nodes int) int {
+	if n == nil {
+		panic(api.ErrSyntax)
 	}
-	return false
+	if nodes == maxNodes {
+		panic(api.ErrDeep)
+	}
+	nodes++
+	for _, k := range n.Kids {
+		nodes = count(k, nodes)
+	}
+	return nodes
 }
 
 // same: but for where they are.
@@ -36,7 +33,7 @@ func same(a, b *api.Node) bool {
 		return false
 	}
 	for i, k := range a.Kids {
-		if b.Kids[i] == nil || !same(k, b.Kids[i]) {
+		if !same(k, b.Kids[i]) {
 			return false
 		}
 	}
@@ -45,7 +42,7 @@ func same(a, b *api.Node) bool {
 
 // part: one that must be there.
 func part(n *api.Node, i int) *api.Node {
-	if i >= len(n.Kids) || n.Kids[i] == nil {
+	if i >= len(n.Kids) {
 		panic(api.ErrSyntax)
 	}
 	return n.Kids[i]

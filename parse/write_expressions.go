@@ -152,9 +152,6 @@ func (w *writer) list(open, end string, l []*api.Node) {
 			if i > 0 {
 				w.put(",")
 			}
-			if k == nil {
-				panic(api.ErrSyntax)
-			}
 			if k.Kind != api.NNone {
 				w.expression(k, assign)
 			} else if i == len(l)-1 {

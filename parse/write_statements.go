@@ -3,7 +3,7 @@ package parse
 import "ecmacore/api"
 
 func (w *writer) program(n *api.Node) {
-	if n == nil || n.Kind != api.NProgram {
+	if n.Kind != api.NProgram {
 		panic(api.ErrSyntax)
 	}
 	w.statements(n, 0)
