@@ -18,9 +18,9 @@ type Heap struct {
 // New: without objects.
 func New() *Heap { return &Heap{first: newShape()} }
 
-// The class and the name of which this package knows more than that they are.
+// Array is the class, and length the name, of which this package knows more than that they are.
 const (
-	array  = "Array"
+	Array  = "Array"
 	length = "length"
 )
 
@@ -28,7 +28,7 @@ const (
 func (h *Heap) Make(class string, proto *Object) *Object {
 	h.made++
 	o := &Object{Class: class, Proto: proto, number: h.made, shape: h.first}
-	if class == array {
+	if class == Array {
 		o.set(Key{Name: length}, Property{Traits: Traits{Writable: true}, Value: Value{Kind: api.Number}})
 	}
 	h.objects = append(h.objects, o)
@@ -52,12 +52,15 @@ func (o *Object) Define(k Key, t Told) error {
 	if t.tellsFunctions() && t.tellsValue() {
 		return api.ErrType
 	}
-	if o.Class == array && k.Name == length {
+	if o.Class == Array && k.Name == length {
 		return o.defineLength(t)
 	}
 	p, has := o.Own(k)
 	if has && p.refuses(t) || !has && !o.takes(k) {
 		return api.ErrType
+	}
+	if k.IsPlace && int(k.Place) < o.units() { // it is what is told already
+		return nil
 	}
 	o.set(k, p.with(t))
 	if n := o.length(); n != nil && k.IsPlace {
@@ -77,7 +80,7 @@ func (o *Object) takes(k Key) bool {
 
 // length of an Array, else nil. (It is the first name of every Array, and never goes.)
 func (o *Object) length() *Value {
-	if o.Class != array {
+	if o.Class != Array {
 		return nil
 	}
 	return &o.named[0].Value

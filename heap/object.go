@@ -23,6 +23,9 @@ func (o *Object) Number() int { return o.number }
 // Own: the object's own property.
 func (o *Object) Own(k Key) (Property, bool) {
 	if k.IsPlace {
+		if p, has := o.unit(k.Place); has {
+			return p, true
+		}
 		return o.place(k.Place)
 	}
 	if i, has := o.shape.find(k.Name); has {
@@ -44,6 +47,9 @@ func (o *Object) Find(k Key) (Property, *Object, bool) {
 // Keys: places, rising; then names as they came.
 func (o *Object) Keys() []Key {
 	var keys []Key
+	for n := range o.units() {
+		keys = append(keys, Key{Place: uint32(n), IsPlace: true})
+	}
 	for _, n := range o.places() {
 		keys = append(keys, Key{Place: n, IsPlace: true})
 	}

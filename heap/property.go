@@ -22,6 +22,14 @@ type Told struct {
 	HasValue, HasGet, HasSet, HasWritable, HasEnumerable, HasConfigurable bool
 }
 
+// Whole: all is told of a property with a value.
+func Whole(v Value, flags Traits) Told {
+	return Told{Property: Property{Traits: flags, Value: v}, HasValue: true, HasWritable: true, HasEnumerable: true, HasConfigurable: true}
+}
+
+// ValueAlone is told: flags stay.
+func ValueAlone(v Value) Told { return Told{Property: Property{Value: v}, HasValue: true} }
+
 func (t Told) tellsFunctions() bool { return t.HasGet || t.HasSet }
 
 func (t Told) tellsValue() bool { return t.HasValue || t.HasWritable }

@@ -5,14 +5,51 @@ import (
 	"math"
 
 	"ecmacore/api"
+	"ecmacore/units"
 )
 
 // Value of the language; its kind is one of api's. What its kind has not is zero in it, so that two are ===, if they are equal structs.
 type Value struct {
 	Kind int
-	Num  float64 // of a Boolean (0 or 1), a Number
+	Num  float64 // of a Boolean (0 or 1), a Number; of a String of the machine's: how many units it has
 	Text string  // of a String
 	Ref  *Object // of an Object
+}
+
+// Null is the value.
+func Null() Value { return Value{Kind: api.Null} }
+
+// Boolean is a value.
+func Boolean(b bool) Value {
+	if b {
+		return Value{Kind: api.Boolean, Num: 1}
+	}
+	return Value{Kind: api.Boolean}
+}
+
+// Number is a value.
+func Number(x float64) Value { return Value{Kind: api.Number, Num: x} }
+
+// String is a value, of a text as package units gives it.
+func String(text string) Value { return Counted(text, units.Count(text)) }
+
+// Counted: likewise, of which it is known how many units it has.
+func Counted(text string, count int) Value {
+	return Value{Kind: api.String, Text: text, Num: float64(count)}
+}
+
+// Of an object: the value.
+func Of(o *Object) Value { return Value{Kind: api.Object, Ref: o} }
+
+// Count: of a String: how many units it has.
+func (v Value) Count() int { return int(v.Num) }
+
+// Unit: of a String: the one at a place that it has, as a string.
+func (v Value) Unit(i int) Value {
+	if v.Count() == len(v.Text) { // each byte is one
+		return Counted(v.Text[i:i+1], 1)
+	}
+	return Counted(units.Text([]uint16{units.At(v.Text, i)}), 1)
 }
 
 // Same: as ===, but NaN is the same as NaN, and 0 not as -0.

@@ -81,7 +81,7 @@ func points(l []uint16) iter.Seq[rune] {
 			r := rune(l[i])
 			if i+1 < len(l) && isFirst(r) && isSecond(rune(l[i+1])) {
 				i++
-				r = firstPair + (r-firstHalf)<<10 + rune(l[i]) - secondHalf
+				r = paired(r, rune(l[i]))
 			}
 			if !yield(r) {
 				return
@@ -89,6 +89,9 @@ func points(l []uint16) iter.Seq[rune] {
 		}
 	}
 }
+
+// paired: the code point of two halves.
+func paired(first, second rune) rune { return firstPair + (first-firstHalf)<<10 + second - secondHalf }
 
 func isFirst(r rune) bool { return r >= firstHalf && r < secondHalf }
 

@@ -1,0 +1,217 @@
+package ecmacore_test
+
+import (
+	"fmt"
+	"math/rand/v2"
+	"reflect"
+	"strings"
+	"testing"
+
+	"ecmacore/api"
+	"ecmacore/ecmacore"
+)
+
+// maker makes up programs.
+type maker struct {
+	*rand.Rand
+	deep   int
+	loops  int
+	labels []string
+}
+
+func (m *maker) one(l ...string) string { return l[m.IntN(len(l))] }
+
+func (m *maker) literal() string {
+	return m.one("0", "1", "-1", "0.5", "NaN", "Infinity", "1e21", "4294967295", "''", "'a'", "'12'", "' 0x1f '", "'\\u00e9\\ud83d\\ude00'", "'\\ud83d'", "'\\ude00'", "'length'",
+		"true", "null", "undefined", "[]", "({})", "[1, , 2]", "print", "Error", "/a/g", "this", "({toString: print})", m.one("1", "1", "({valueOf: 0, toString: 0})"))
+}
+
+func (m *maker) name() string { return m.one("a", "b", "c", "o", "p", m.one("a", "b", "none")) }
+
+func (m *maker) object() string {
+	return m.one("o", "p", "o", "p", "({x: 1})", "this", "Error.prototype", "[1, 2]", m.one("a", "o", "'abc'", "(5)", "null"))
+}
+
+func (m *maker) place() string {
+	switch m.IntN(3) {
+	case 0:
+		return m.name()
+	case 1:
+		return m.object() + m.one(".x", ".y", ".length", ".toString", ".valueOf", ".join", ".name")
+	}
+	return m.object() + "[" + m.expression() + "]"
+}
+
+func (m *maker) expression() string {
+	m.deep++
+	defer func() { m.deep-- }()
+	if m.deep > 5 {
+		return m.one(m.literal(), m.name())
+	}
+	e := m.expression
+	switch m.IntN(16) {
+	case 0, 1:
+		return m.literal()
+	case 2, 3:
+		return m.place()
+	case 4, 5, 6:
+		return "(" + e() + m.one(" + ", " - ", " * ", " / ", " % ", " << ", " >> ", " >>> ", " & ", " | ", " ^ ", " < ", " > ", " <= ", " >= ", " == ", " != ", " === ", " !== ", " + ", " - ", m.one(" in ", " instanceof ")) + e() + ")"
+	case 7:
+		return "(" + m.place() + m.one(" = ", " += ", " -= ", " *= ", " |= ", " >>>= ") + e() + ")"
+	case 8:
+		return "(" + m.place() + m.one("++", "--") + ")"
+	case 9:
+		return "(" + m.one("++", "--", "delete this.", "typeof ", "void ") + m.name() + ")"
+	case 10:
+		return "(" + m.one("- ", "+ ", "~", "!", "typeof ", "void ", "delete !") + e() + ")"
+	case 11:
+		return "(" + e() + m.one(" && ", " || ", ", ") + e() + ")"
+	case 12:
+		return "(" + e() + " ? " + e() + " : " + e() + ")"
+	case 13:
+		return "[" + e() + m.one(", ", ", , ") + e() + "]"
+	case 14:
+		return "({x: " + e() + ", " + m.one("y", "1", "length", "toString", "valueOf") + ": " + e() + "})"
+	}
+	return m.one("Error(", "new TypeError(", "print(", "[1, 'b'].join(", m.one("print(", "o.x(", "a(", "new o.x(")) + e() + ")"
+}
+
+func (m *maker) statement() string {
+	m.deep++
+	defer func() { m.deep-- }()
+	if m.deep > 4 {
+		return m.one("print("+m.expression()+");", m.expression()+";")
+	}
+	s := m.statement
+	switch m.IntN(12) {
+	case 0, 1:
+		return "print(" + m.expression() + ", " + m.expression() + ");"
+	case 2:
+		return m.place() + " = " + m.expression() + ";"
+	case 3:
+		return "var " + m.name() + " = " + m.expression() + ", " + m.name() + ";"
+	case 4:
+		return "if (" + m.expression() + ") { " + s() + " } else " + s()
+	case 5:
+		return "{ " + s() + " " + s() + " }"
+	case 6, 7:
+		return m.loop()
+	case 8:
+		return "switch (" + m.expression() + ") { case " + m.expression() + ": " + s() + m.one("", " break;") + " default: " + s() + m.one("", " break;") + " case " + m.expression() + ": " + s() + " }"
+	case 9:
+		return m.labelled("") + "{ " + s() + m.end(" }")
+	case 10:
+		return m.jump()
+	}
+	return m.one("throw "+m.expression()+";", ";", m.expression()+";")
+}
+
+// labelled: a label ahead, or not; kind: l for a loop's.
+func (m *maker) labelled(kind string) string {
+	m.labels = append(m.labels, fmt.Sprint(kind, "n", len(m.labels)))
+	return m.labels[len(m.labels)-1] + ": "
+}
+
+func (m *maker) end(text string) string {
+	m.labels = m.labels[:len(m.labels)-1]
+	return text
+}
+
+func (m *maker) loop() string {
+	label := m.labelled("l")
+	i := fmt.Sprint("i", len(m.labels))
+	m.loops++
+	body := m.statement()
+	m.loops--
+	n := fmt.Sprint(m.IntN(4))
+	switch m.IntN(4) {
+	case 0:
+		return m.end(label + "for (var " + i + " = 0; " + i + " < " + n + "; " + i + "++) " + body)
+	case 1:
+		return m.end("{ var " + i + " = 0; " + label + "while (" + i + "++ < " + n + ") " + body + " }")
+	case 2:
+		return m.end("{ var " + i + " = 0; " + label + "do " + body + " while (" + i + "++ < " + n + ") }")
+	}
+	return m.end("{ var " + i + " = 0; " + label + "for (;;) { if (" + i + "++ > " + n + ") break; " + body + " } }")
+}
+
+func (m *maker) jump() string {
+	var l []string
+	if m.loops > 0 {
+		l = append(l, "break;", "continue;")
+	}
+	for _, label := range m.labels {
+		l = append(l, "break "+label+";")
+		if label[0] == 'l' {
+			l = append(l, "continue "+label+";")
+		}
+	}
+	if l == nil {
+		return ";"
+	}
+	return "if (" + m.expression() + ") " + m.one(l...)
+}
+
+func (m *maker) program() string {
+	m.deep, m.loops, m.labels = 0, 0, nil
+	src := "var a = " + m.literal() + ", b = " + m.literal() + ", c = " + m.literal() + ", o = {x: print}, p = [1, [2], 'a']; "
+	for range 1 + m.IntN(5) {
+		src += m.statement() + " "
+	}
+	return src + "print(a, b, c); print(o, p)"
+}
+
+// P1, P2: no program panics, and every one does the same again, in a world of its own.
+func TestRandomPrograms(t *testing.T) {
+	m := &maker{Rand: rand.New(rand.NewPCG(19, 6))}
+	how := [5]int{}
+	for range 4000 {
+		src := m.program()
+		r := run(src, 30)
+		if again := run(src, 30); !reflect.DeepEqual(r, again) {
+			t.Fatalf("%s\nfirst %+v\nthen %+v", src, r, again)
+		}
+		how[r.How]++
+		fewerSteps(t, m, src, r)
+	}
+	if how[api.Ended] < 400 || how[api.Thrown] < 400 || how[api.Cut] < 20 || how[api.Early] > 0 {
+		t.Errorf("how they ended: %v", how)
+	}
+}
+
+// fewerSteps: P72: with fewer steps than it takes, a run does the same up to there.
+func fewerSteps(t *testing.T, m *maker, src string, r api.Result) {
+	if r.How == api.Early || r.Steps == 0 {
+		return
+	}
+	steps := m.IntN(r.Steps)
+	cut := run(src, steps)
+	if cut.How != api.Cut || cut.Steps != steps || cut.Text != "" || len(cut.Lines) > len(r.Lines) || strings.Join(cut.Lines, "\n") != strings.Join(r.Lines[:len(cut.Lines)], "\n") {
+		t.Fatalf("%s\nwhole %+v\ncut %+v", src, r, cut)
+	}
+	if r.How == api.Cut {
+		return
+	}
+	if just := run(src, r.Steps); !reflect.DeepEqual(just, r) {
+		t.Fatalf("%s\nwhole %+v\njust %+v", src, r, just)
+	}
+}
+
+// P1: whatever the text is, and whatever world it meets.
+func TestRandomTexts(t *testing.T) {
+	m := &maker{Rand: rand.New(rand.NewPCG(7, 8))}
+	w := ecmacore.New(0)
+	for i := range 20000 {
+		src := ""
+		for range m.IntN(12) {
+			src += m.one("a", "o", " ", "\n", "print", "(", ")", "(", ")", "[", "]", "{", "}", ";", ",", ".x", "=", "+", "++", "-", "in", " in ", "1", "'a'", "/a/", "var ", "for", "while", "do ", "if", "else ", "switch", "case 1:", "default:", "break ", "continue ", "throw ", "new ", "delete ", "typeof ", "this", "null", "!", "?", ":", "&&", "function", "try", "catch", "finally", "get ", "\xff", "\u2028", "=", "Error")
+		}
+		r := w.Run(src, api.Limits{Steps: m.IntN(50)})
+		if (r.How == 0) != (r.Text == "" && r.At == 0 && r.Lines == nil && r.Steps == 0 && r.How == 0) {
+			t.Fatalf("%q: %+v", src, r)
+		}
+		if i%1000 == 0 {
+			w.Collect()
+		}
+	}
+}

@@ -1,0 +1,204 @@
+package ecmacore_test
+
+import (
+	"errors"
+	"reflect"
+	"strings"
+	"testing"
+
+	"ecmacore/api"
+	"ecmacore/ecmacore"
+	"ecmacore/parse"
+)
+
+// P120: what programs do to objects stays for the next ones of the same world, however they ended.
+func TestWorldStays(t *testing.T) {
+	w, other := ecmacore.New(0), ecmacore.New(0)
+	for _, c := range []struct {
+		src   string
+		steps int
+		want  api.Result
+	}{
+		{"var a = {x: 1}; a.y = [a]; print(a.y)", 5, api.Result{Lines: []string{"[object Object]"}, How: api.Ended, Steps: 1}},
+		{"a.x = 2; throw a", 5, api.Result{How: api.Thrown, Text: "Object"}},
+		{"for (;;) a.x++", 5, api.Result{How: api.Cut, Steps: 5}},
+		{"a.x = ", 5, api.Result{How: api.Early, Text: "SyntaxError", At: 6}},
+		{"a.x = 0; 1 = 2", 5, api.Result{How: api.Early, Text: "SyntaxError", At: 9}},
+		{"print(a.x, a.y[0] === a)", 0, api.Result{Lines: []string{"7 true"}, How: api.Ended}},
+		{"Error.prototype.name = 'E'; print = 5", 0, api.Result{How: api.Ended}},
+		{"null.x", 0, api.Result{How: api.Thrown, Text: "Error TypeError "}},
+		{"throw Error('m')", 0, api.Result{How: api.Thrown, Text: "Error E m"}},
+		{"print()", 0, api.Result{How: api.Thrown, Text: "Error TypeError "}},
+	} {
+		if r := w.Run(c.src, api.Limits{Steps: c.steps}); !reflect.DeepEqual(r, c.want) {
+			t.Errorf("%s\n got %+v\nwant %+v", c.src, r, c.want)
+		}
+	}
+	want := api.Result{Lines: []string{"undefined Error"}, How: api.Ended}
+	if r := other.Run("print(typeof a, Error())", api.Limits{}); !reflect.DeepEqual(r, want) {
+		t.Errorf("another world: %+v", r)
+	}
+	if r := ecmacore.Run("print(typeof a, Error())", api.Limits{}); !reflect.DeepEqual(r, want) {
+		t.Errorf("Run: %+v", r)
+	}
+}
+
+// P120: there is a world for every level, and steps are bounded on both sides.
+func TestLevelsAndSteps(t *testing.T) {
+	for _, level := range []int{-1 << 62, -1, 0, 1, 2, 3, 4, 1 << 62} {
+		if r := ecmacore.New(level).Run("print(1 + 1)", api.Limits{}); r.How != api.Ended || len(r.Lines) != 1 || r.Lines[0] != "2" {
+			t.Errorf("level %d: %+v", level, r)
+		}
+	}
+	for steps, want := range map[int]int{-1 << 62: 0, -1: 0, 0: 0, 1: 1, 7: 7, 1<<20 - 1: 1<<20 - 1, 1 << 20: 1 << 20, 1<<20 + 1: 1 << 20, 1 << 62: 1 << 20} {
+		if r := run("for (;;) ;", steps); r.How != api.Cut || r.Steps != want {
+			t.Errorf("%d steps: %+v", steps, r)
+		}
+	}
+	if r := run("for (var i = 0; i < 1048576; i++) ;", 1<<21); r.How != api.Ended || r.Steps != 1<<20 {
+		t.Errorf("%+v", r)
+	}
+}
+
+// P121: programs that chapter 5 refuses.
+func TestEarly(t *testing.T) {
+	for _, src := range []string{
+		"print(1); 1 = 2", "a b", "'", "var eval", "break", "return", "print(1); {", "{}}", "/(/", "with (a) b", "\xff", "var a = '\xed\xa0\x80'",
+		strings.Repeat(" ", api.MaxSource+1), strings.Repeat("(", 200), strings.Repeat("{", 121) + strings.Repeat("}", 121), "delete a", "({a: 1, a: 2})", "for (;;) { l: ; continue l }",
+	} {
+		_, err := parse.Program(src)
+		var f *api.Fault
+		if !errors.As(err, &f) {
+			t.Fatalf("%.40q is a program", src)
+		}
+		if r, want := run(src, many), (api.Result{How: api.Early, Text: "SyntaxError", At: f.At}); !reflect.DeepEqual(r, want) {
+			t.Errorf("%.40q\n got %+v\nwant %+v", src, r, want)
+		}
+	}
+	if r := run("1 +", 0); r.At != 3 {
+		t.Errorf("%+v", r)
+	}
+}
+
+// P121: how it is told what was thrown.
+func TestThrown(t *testing.T) {
+	for src, text := range map[string]string{
+		"undefined": "undefined undefined", "null": "object null", "true": "boolean true", "5": "number 5", "-0": "number 0", "1e21": "number 1e+21", "'a b'": "string a b", "''": "string ", "'\\ud83d'": "string \xed\xa0\xbd",
+		"{}": "Object", "[]": "Array", "[1, 2]": "Array", "/a/": "RegExp", "print": "Function", "this": "Object",
+		"{name: 'a'}": "Object a", "{message: 'b'}": "Object b", "{name: 'a', message: 'b'}": "Object a b", "{message: 'b', name: 'a'}": "Object a b", "{name: '', message: ''}": "Object  ",
+		"{name: 1, message: null}": "Object", "{name: ['a'], message: 'b'}": "Object b", "{toString: 0, valueOf: 0}": "Object", "{toString: zz1 = print}": referenceError,
+		"new Error": "Error Error ", "new TypeError('m')": "Error TypeError m", "RangeError(5)": "Error RangeError 5", "Error.prototype": "Error Error ", "Error": "Function",
+	} {
+		ends(t, end{src: "throw " + src, text: text})
+	}
+	ends(t,
+		end{src: "print(1); for (var i = 0; ; i++) if (i == 2) throw i", text: "number 2", steps: 3, lines: []string{"1"}},
+		end{src: "var e = new TypeError; e.name = 5; throw e", text: "Error "},
+		end{src: "var e = [1]; e.name = 'n'; e.message = 'm'; throw e", text: "Array n m"},
+		end{src: "var name = 'n'; throw this", text: "Object n"},
+	)
+}
+
+// P121: lines that were printed are told however the run ended; there are none of another run.
+func TestLines(t *testing.T) {
+	w := ecmacore.New(0)
+	first := w.Run("print(1); print(2)", api.Limits{})
+	if second := w.Run("", api.Limits{}); second.Lines != nil || second.How != api.Ended {
+		t.Errorf("%+v", second)
+	}
+	first.Lines[0] = "x"
+	if r := w.Run("print(1); print(2)", api.Limits{}); r.Lines[0] != "1" {
+		t.Errorf("%+v", r)
+	}
+	if r := run("print(1); for (;;) print(2)", 1); !reflect.DeepEqual(r.Lines, []string{"1", "2"}) {
+		t.Errorf("%+v", r)
+	}
+}
+
+// What is not built yet has the zero result, and does nothing.
+func TestNotBuilt(t *testing.T) {
+	w := ecmacore.New(0)
+	for _, src := range []string{"function f() { }", "a = function () { }", "try { a = 1 } catch (e) { }", "try { a = 1 } finally { }", "for (a in {x: 1}) ;", "a = {get x() { return 1 }}", "a = {set x(v) { }}", "a = 1; if (0) { b = [1, {c: function () { }}] }"} {
+		if r := w.Run("var a = 0; "+src, api.Limits{Steps: 9}); !reflect.DeepEqual(r, api.Result{}) {
+			t.Errorf("%s: %+v", src, r)
+		}
+	}
+	if r := w.Run("print(typeof a)", api.Limits{}); len(r.Lines) != 1 || r.Lines[0] != "undefined" {
+		t.Errorf("%+v", r)
+	}
+}
+
+// Objects that no program can reach are let go while one runs, so that a long run can make many.
+func TestCollected(t *testing.T) {
+	w := ecmacore.New(0)
+	first := w.Stats().Live
+	r := w.Run("var keep = [], l; for (var i = 0; i < 20000; i++) { l = [l && l[1], {x: i}]; if (i % 100 == 0) keep[i / 100] = {i: i} } print(keep.length, keep[0].i, keep[199].i, l[1].x, l[0].x); l = 0", api.Limits{Steps: many})
+	if want := "200 0 19900 19999 19998"; r.How != api.Ended || r.Lines[0] != want {
+		t.Errorf("%+v", r)
+	}
+	if n := w.Stats().Live; n > 10000 {
+		t.Errorf("%d objects", n)
+	}
+	w.Collect()
+	if n := w.Stats().Live; n != first+201 {
+		t.Errorf("%d objects, at first %d", n, first)
+	}
+	if n := w.Collect(); n != 0 {
+		t.Errorf("Collect again: %d", n)
+	}
+	if r := w.Run("print(keep[5].i, 'a'.toString(), (5).toString(), [1] + '', Error('m'), /a/); null.x", api.Limits{Steps: many}); r.Text != typeError || r.Lines[0] != "500 a 5 1 Error: m [object RegExp]" {
+		t.Errorf("%+v", r)
+	}
+}
+
+// Example 7 of the document, and those of the README.
+func TestExamples(t *testing.T) {
+	says(t, "var a = [1, 2]; a.length = 1; print(a, a[1], typeof zz)", "1 undefined undefined")
+	w := ecmacore.New(0)
+	for _, c := range []struct {
+		src   string
+		steps int
+		want  api.Result
+	}{
+		{"var a = [1, 2]; print(a)", 100, api.Result{Lines: []string{"1,2"}, How: api.Ended, Steps: 2}},
+		{"a[2] = 3; throw a.length", 100, api.Result{How: api.Thrown, Text: "number 3"}},
+		{"for (;;) print(a)", 9, api.Result{Lines: []string{"1,2,3", "1,2,3"}, How: api.Cut, Steps: 9}},
+		{"1 = 2", 0, api.Result{How: api.Early, Text: "SyntaxError"}},
+	} {
+		if r := w.Run(c.src, api.Limits{Steps: c.steps}); !reflect.DeepEqual(r, c.want) {
+			t.Errorf("%s\n got %+v\nwant %+v", c.src, r, c.want)
+		}
+	}
+}
+
+// P1: programs as large as they may be, whose trees lie deep in themselves.
+func TestLargePrograms(t *testing.T) {
+	of := func(front, part, back string) string {
+		return front + strings.Repeat(part, (api.MaxSource-len(front)-len(back))/len(part)) + back
+	}
+	for _, c := range []struct{ src, line string }{
+		{of("print(0", "+1", ")"), "32764"},
+		{of("print(1", "&&1", ")"), "1"},
+		{of("print((1", ",1", "))"), "1"},
+		{of("print([1", ",1", "].length)"), "32760"},
+		{of("var a = 1; print(a", "-a", ")"), "-32757"},
+		{of("var a = [], b = a; a[0] = a; print(b", "[0]", "=== a)"), "true"},
+		{of("var a = 1;", ";", "print(a)"), "1"},
+		{of("var a = {}; a.a = a; print(a", ".a", "=== a)"), "true"},
+		{of("var a = 0; ", "a++;", "print(a)"), "16379"},
+		{of("switch (1) {", "case 0:", "default: print(2)}"), "2"},
+		{of("var a", ",a", " = 5; print(a)"), "5"},
+		{of("print(", "0?0:", "1)"), ""},
+	} {
+		r := run(c.src, many)
+		if c.line == "" {
+			if r.How != api.Early {
+				t.Errorf("%.20s ..: %+v", c.src, r)
+			}
+			continue
+		}
+		if r.How != api.Ended || len(r.Lines) != 1 || r.Lines[0] != c.line {
+			t.Errorf("%.20s ..: %d %s %.50q", c.src, r.How, r.Text, r.Lines)
+		}
+	}
+}

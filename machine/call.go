@@ -1,0 +1,72 @@
+package machine
+
+import (
+	"ecmacore/api"
+	"ecmacore/heap"
+)
+
+// Function is what a function of the library does. New is nil, if it makes nothing.
+type Function struct {
+	Call func(m *Machine, this heap.Value, args []heap.Value) heap.Value
+	New  func(m *Machine, args []heap.Value) heap.Value
+}
+
+// Hold: it holds no objects.
+func (f *Function) Hold(*heap.Marker) {}
+
+// MakeFunction: a new object that is a function of the library.
+func (m *Machine) MakeFunction(length int, f *Function) *heap.Object {
+	o := m.Make(FunctionClass, m.Prototypes.Function)
+	m.becomeFunction(o, length, f)
+	return o
+}
+
+func (m *Machine) becomeFunction(o *heap.Object, length int, f *Function) {
+	o.Inner = f
+	m.Define(o, lengthKey(), heap.Whole(heap.Number(float64(length)), heap.Traits{}))
+}
+
+// IsFunction: whether it can be called.
+func IsFunction(v heap.Value) bool { return v.Kind == api.Object && v.Ref.Class == FunctionClass }
+
+// Arg: the argument at a place, or undefined.
+func Arg(args []heap.Value, i int) heap.Value {
+	if i < len(args) {
+		return args[i]
+	}
+	return heap.Value{}
+}
+
+// Call of a function, on a value.
+func (m *Machine) Call(f *heap.Object, this heap.Value, args ...heap.Value) heap.Value {
+	var v heap.Value
+	m.enter()
+	if inner, ok := f.Inner.(*Function); ok {
+		v = inner.Call(m, this, args)
+	}
+	m.calls--
+	return v
+}
+
+// enter counts a call. Whoever catches what is thrown out of it counts anew.
+func (m *Machine) enter() {
+	if m.calls >= api.MaxCalls {
+		panic(m.RangeError())
+	}
+	m.calls++
+}
+
+// construct: what new makes.
+func (m *Machine) construct(f heap.Value, args []heap.Value) heap.Value {
+	if !IsFunction(f) {
+		panic(m.TypeError())
+	}
+	inner, ok := f.Ref.Inner.(*Function)
+	if !ok || inner.New == nil {
+		panic(m.TypeError())
+	}
+	m.enter()
+	v := inner.New(m, args)
+	m.calls--
+	return v
+}

@@ -1,0 +1,44 @@
+package machine
+
+import (
+	"strings"
+
+	"ecmacore/code"
+	"ecmacore/heap"
+)
+
+// literals: objects that are written out in the program.
+func (m *Machine) literals(f *frame, in code.Instr) {
+	switch in.Op {
+	case code.MakeArray:
+		m.push(heap.Of(m.Make(heap.Array, m.Prototypes.Array)))
+	case code.SetElement:
+		m.setInto(heap.Key{Place: uint32(in.Arg), IsPlace: true})
+	case code.SkipElement:
+		m.Define(m.top(0).Ref, lengthKey(), heap.ValueAlone(heap.Number(float64(in.Arg)+1)))
+	case code.MakeObject:
+		m.push(heap.Of(m.Make(ObjectClass, m.Prototypes.Object)))
+	case code.SetProperty:
+		m.setInto(f.code.Keys[in.Arg])
+	case code.MakeRegex:
+		m.push(heap.Of(m.regex(f.code.Patterns[in.Arg])))
+	}
+}
+
+// setInto: the top becomes a property of the object beneath it.
+func (m *Machine) setInto(k heap.Key) {
+	v := m.pop()
+	m.Define(m.top(0).Ref, k, heap.Whole(v, heap.AllFlags()))
+}
+
+// regex: an object with a pattern.
+func (m *Machine) regex(p code.Pattern) *heap.Object {
+	o := m.Make(RegExpClass, m.Prototypes.RegExp)
+	m.Define(o, heap.Key{Name: "source"}, heap.Whole(heap.String(p.Source), heap.Traits{}))
+	for _, flag := range []string{"global", "ignoreCase", "multiline"} {
+		told := strings.Contains(p.Flags, flag[:1])
+		m.Define(o, heap.Key{Name: flag}, heap.Whole(heap.Boolean(told), heap.Traits{}))
+	}
+	m.Define(o, heap.Key{Name: "lastIndex"}, heap.Whole(heap.Number(0), heap.Traits{Writable: true}))
+	return o
+}

@@ -1,0 +1,88 @@
+// Package machine: a machine with a stack, which runs code on the objects of a world: see chapter 7. What the library's functions need of it is exported.
+package machine
+
+import (
+	"strings"
+
+	"ecmacore/api"
+	"ecmacore/heap"
+)
+
+// Machine has a world's objects, and what a run needs.
+type Machine struct {
+	Prototypes Prototypes
+	Global     *heap.Object
+
+	heap  *heap.Heap
+	bound int // of objects: when there are more, those that cannot be reached are collected
+	stack []heap.Value
+	calls int // how many are being done
+	run
+}
+
+// run is what one run has for itself.
+type run struct {
+	steps, most int // how many it took, and may take
+	lines       []string
+	printed     int // what the lines count
+}
+
+// New: a machine with the prototypes and an empty global object.
+func New() *Machine {
+	m := &Machine{heap: heap.New()}
+	m.makePrototypes()
+	m.Global = m.Make(ObjectClass, m.Prototypes.Object)
+	return m
+}
+
+// Make: a new object.
+func (m *Machine) Make(class string, behind *heap.Object) *heap.Object {
+	return m.heap.Make(class, behind)
+}
+
+// Hold: the roots: what programs can reach without going through objects.
+func (m *Machine) Hold(k *heap.Marker) {
+	k.Object(m.Global)
+	for _, o := range m.Prototypes.all() {
+		k.Object(o)
+	}
+	for _, v := range m.stack {
+		k.Value(v)
+	}
+}
+
+// Collect: objects that cannot be reached are gone; how many.
+func (m *Machine) Collect() int { return m.heap.Collect(m) }
+
+// Live: how many objects there are.
+func (m *Machine) Live() int { return m.heap.Live() }
+
+// collectIfMany: so seldom that going through all objects costs no more than making them.
+func (m *Machine) collectIfMany() {
+	if m.Live() <= m.bound {
+		return
+	}
+	m.Collect()
+	m.bound = m.Live() + m.Live()/2 + 3000
+}
+
+// Step: the run takes one; it ends, if there is none.
+func (m *Machine) Step() {
+	if m.steps >= m.most {
+		panic(Cut{})
+	}
+	m.steps++
+}
+
+// Print: a line of strings.
+func (m *Machine) Print(parts []heap.Value) {
+	texts := make([]string, len(parts))
+	for i, p := range parts {
+		texts[i] = p.Text
+		m.printed += p.Count() + 1
+	}
+	if m.printed > api.MaxPrint {
+		panic(Cut{})
+	}
+	m.lines = append(m.lines, strings.Join(texts, " "))
+}

@@ -1,0 +1,37 @@
+package machine
+
+import (
+	"ecmacore/api"
+	"ecmacore/heap"
+	"ecmacore/units"
+)
+
+// Text is a string that is put together, one piece behind the other.
+type Text struct {
+	bytes []byte
+	count int
+}
+
+// Add: a string behind what there is.
+func (t *Text) Add(m *Machine, v heap.Value) {
+	m.fits(t.count + v.Count())
+	t.bytes = units.Append(t.bytes, v.Text)
+	t.count += v.Count()
+}
+
+// Value: what there is.
+func (t *Text) Value() heap.Value { return heap.Counted(string(t.bytes), t.count) }
+
+// Join: two strings, one behind the other.
+func (m *Machine) Join(v, w heap.Value) heap.Value {
+	count := v.Count() + w.Count()
+	m.fits(count)
+	return heap.Counted(units.Join(v.Text, w.Text), count)
+}
+
+// fits: RangeError, if a string would have too many units.
+func (m *Machine) fits(count int) {
+	if count > api.MaxString {
+		panic(m.RangeError())
+	}
+}
