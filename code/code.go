@@ -8,16 +8,28 @@ type Op int
 
 // In brackets: what an op takes, the top last, and what it puts there. A target is an instruction's number. Ops that are alike stand together: the machine tells them apart by their order.
 const (
-	End        Op = iota // the code ends
-	Jump                 // to the target Arg
-	JumpIf               // [test] to Arg, if the test is taken for true
-	JumpUnless           // [test] to Arg, if it is not
-	JumpOr               // [left -> left] to Arg, if it is taken for true; else [left]
-	JumpAnd              // [left -> left] to Arg, if it is not; else [left]
-	JumpCase             // [value case] to Arg, if these are ===; else [value case -> value]
-	Step                 // of the run
-	Throw                // [value]
+	End    Op = iota // the code ends; a function gives undefined
+	Return           // [value] the function ends, and gives it
+	Step             // of the run
+	Throw            // [value]
 
+	Jump       // to the target Arg
+	JumpIf     // [test] to Arg, if the test is taken for true
+	JumpUnless // [test] to Arg, if it is not
+	JumpOr     // [left -> left] to Arg, if it is taken for true; else [left]
+	JumpAnd    // [left -> left] to Arg, if it is not; else [left]
+	JumpCase   // [value case] to Arg, if these are ===; else [value case -> value]
+
+	Visit      // [value -> value address] to the finally block at Arg; the address is the next instruction's
+	Resume     // [value address -> value] the block ends: back to the address; [value address] if that is Nowhere: it is thrown
+	EnterCatch // [value] a scope is made with it as its variable
+	LeaveCatch // that scope is left
+	StartKeys  // [object] the keys for a for in are gathered
+	NextKey    // the next of them; to Arg, if there is none
+	PushKey    // [-> key] that one
+	EndKeys    // of the for in
+
+	Nothing // [-> undefined]
 	Push    // [-> value] the value Arg
 	This    // [-> this]
 	Pop     // [value]
@@ -25,9 +37,13 @@ const (
 	CopyTwo // [a b -> a b a b]
 	Under   // [.. value -> value ..] it goes beneath Arg others
 
-	ReadName  // [-> value] of the key Arg
+	ReadName  // [-> value] of the key Arg of the global object
 	AskName   // [-> value] likewise; undefined, if the name is nowhere
 	WriteName // [value -> value] to the key Arg
+
+	ReadVariable   // [-> value] of the variable Arg, Up scopes further out
+	WriteVariable  // [value -> value] to it
+	RefuseVariable // [value] TypeError: it cannot be assigned
 
 	Solid       // [object -> object] TypeError, if it is undefined or null
 	Place       // [object key -> object key] likewise; then the key is no object any more
@@ -42,12 +58,15 @@ const (
 	Call        // [this function .. -> value] with Arg arguments
 	New         // [function .. -> value] with Arg arguments
 
-	MakeArray   // [-> array]
-	SetElement  // [array value -> array] at the place Arg
-	SkipElement // [array -> array] the place Arg is left out
-	MakeObject  // [-> object]
-	SetProperty // [object value -> object] the key Arg
-	MakeRegex   // [-> object] of the pattern Arg
+	MakeArray    // [-> array]
+	SetElement   // [array value -> array] at the place Arg
+	SkipElement  // [array -> array] the place Arg is left out
+	MakeObject   // [-> object]
+	SetProperty  // [object value -> object] the key Arg
+	SetGet       // [object function -> object] likewise: what is called when it is read
+	SetSet       // [object function -> object] likewise: when it is written
+	MakeRegex    // [-> object] of the pattern Arg
+	MakeFunction // [-> function] of the code Arg, in this scope
 
 	ToNumber // [value -> number]; from here on up to Binary: one operand
 	More     // [number -> number] by one
@@ -86,6 +105,7 @@ const (
 type Instr struct {
 	Op  Op
 	Arg int
+	Up  int
 }
 
 // Pattern is one that stands in the program.
@@ -93,11 +113,49 @@ type Pattern struct {
 	Source, Flags string
 }
 
-// Code is a program's.
+// Nowhere is the address behind a finally block that something thrown led to; None, where a variable's number stands: there is no such variable.
+const (
+	Nowhere = -1
+	None    = -1
+)
+
+// Guard: what is thrown by an instruction from From on, but ahead of To, is caught: it is the top of the stack at the instruction Target. What was begun since then is left: there are so many values beneath it, catches and for ins of this code.
+type Guard struct {
+	From, To, Target        int
+	Values, Catches, ForIns int
+}
+
+// Hoisted is a function that is declared: where its code stands, and its name: in a function a variable has it.
+type Hoisted struct {
+	Function int
+	Name     heap.Key
+	Variable int
+}
+
+// Code is a program's, or a function's.
 type Code struct {
-	Instrs   []Instr
-	Values   []heap.Value // those that are pushed
-	Keys     []heap.Key   // names, and keys behind a point and in { }
-	Patterns []Pattern
-	Declared []heap.Key // the names of variables, in order
+	Instrs    []Instr
+	Values    []heap.Value // those that are pushed
+	Keys      []heap.Key   // names, and keys behind a point and in { }
+	Patterns  []Pattern
+	Functions []*Code   // those that are made in it
+	Guards    []Guard   // those that lie within others first
+	Hoisted   []Hoisted // in order
+
+	Declared []heap.Key // of a program: the names of its variables, in order
+
+	Params    int // of a function: how many, which are its first variables
+	Variables int // how many in all
+	Self      int // the variable that is the function itself, or None
+	Arguments int // the variable arguments, or None
+}
+
+// GuardOf: what catches what the instruction there throws.
+func (c *Code) GuardOf(at int) (Guard, bool) {
+	for _, g := range c.Guards {
+		if g.From <= at && at < g.To {
+			return g, true
+		}
+	}
+	return Guard{}, false
 }

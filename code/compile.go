@@ -5,51 +5,40 @@ import (
 	"ecmacore/heap"
 )
 
-// compiler makes code, of a tree that package parse gave.
+// compiler makes the code of a program or of one function, of a tree that package parse gave.
 type compiler struct {
 	code    *Code
-	targets []*target // what a jump can leave or go on with, from without inwards
+	scope   *scope    // the innermost; nil: names are the global object's
+	regions []*region // around what is being compiled, from without inwards
 }
 
-// Compile: the code of a program's tree; nil, if it has what is not built yet: functions, try, for in.
+// Compile: the code of a program's tree.
 func Compile(program *api.Node) *Code {
-	if !built(program) {
-		return nil
+	c := newCompiler(nil)
+	for n := range own(program) {
+		if n.Kind == api.NDecl {
+			c.code.Declared = append(c.code.Declared, heap.KeyOf(n.Text))
+		}
 	}
-	c := &compiler{code: &Code{}}
-	c.declare(program)
-	c.statements(program.Kids)
-	c.add(End, 0)
+	c.all(program)
 	return c.code
 }
 
-func built(n *api.Node) bool {
-	switch n.Kind {
-	case api.NFunc, api.NLambda, api.NTry, api.NForIn, api.NGet, api.NSet:
-		return false
-	}
-	for _, k := range n.Kids {
-		if !built(k) {
-			return false
-		}
-	}
-	return true
+func newCompiler(s *scope) *compiler {
+	return &compiler{code: &Code{Self: None, Arguments: None}, scope: s}
 }
 
-// declare gathers the names of variables.
-func (c *compiler) declare(n *api.Node) {
-	if n.Kind == api.NDecl {
-		c.code.Declared = append(c.code.Declared, heap.KeyOf(n.Text))
-	}
-	for _, k := range n.Kids {
-		c.declare(k)
-	}
+// all: of a program or a function's body, when its names are known.
+func (c *compiler) all(body *api.Node) {
+	c.hoist(body)
+	c.statements(body.Kids)
+	c.add(End, 0)
 }
 
 // add an instruction; where it stands.
 func (c *compiler) add(op Op, arg int) int {
 	c.code.Instrs = append(c.code.Instrs, Instr{Op: op, Arg: arg})
-	return len(c.code.Instrs) - 1
+	return c.here() - 1
 }
 
 // here: where the next instruction will stand.

@@ -24,6 +24,8 @@ func (c *compiler) expression(n *api.Node) {
 		c.array(n)
 	case api.NObject:
 		c.object(n)
+	case api.NLambda:
+		c.add(MakeFunction, c.function(n))
 	case api.NName, api.NDot, api.NIndex:
 		c.each(n.Kids)
 		c.read(n)
@@ -74,7 +76,7 @@ func (c *compiler) object(n *api.Node) {
 	c.add(MakeObject, 0)
 	for _, k := range n.Kids {
 		c.expression(k.Kids[0])
-		c.withKey(SetProperty, k.Text)
+		c.withKey(setOp(k.Kind), k.Text)
 	}
 }
 
@@ -89,7 +91,7 @@ func (c *compiler) call(n *api.Node) {
 		c.each(called.Kids)
 		c.add(MethodIndex, 0)
 	default:
-		c.push(heap.Value{})
+		c.add(Nothing, 0)
 		c.expression(called)
 	}
 	c.each(n.Kids[1:])
@@ -126,9 +128,9 @@ func (c *compiler) unary(n *api.Node) {
 		c.remove(operand)
 	case n.Text == "void":
 		c.effect(operand)
-		c.push(heap.Value{})
+		c.add(Nothing, 0)
 	case n.Text == "typeof" && operand.Kind == api.NName:
-		c.withKey(AskName, operand.Text)
+		c.readName(AskName, operand.Text)
 		c.add(TypeOf, 0)
 	default:
 		c.expression(operand)

@@ -1,5 +1,7 @@
 package code
 
+import "ecmacore/api"
+
 func unaryOp(text string) Op {
 	switch text {
 	case "+":
@@ -71,4 +73,15 @@ func relationOp(text string) Op {
 		return In
 	}
 	return InstanceOf
+}
+
+// setOp: what becomes a property in { } is set by it.
+func setOp(kind int) Op {
+	switch kind {
+	case api.NGet:
+		return SetGet
+	case api.NSet:
+		return SetSet
+	}
+	return SetProperty
 }

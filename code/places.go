@@ -26,7 +26,7 @@ func (c *compiler) read(n *api.Node) {
 	case api.NIndex:
 		c.add(ReadIndex, 0)
 	default:
-		c.withKey(ReadName, n.Text)
+		c.readName(ReadName, n.Text)
 	}
 }
 
@@ -50,7 +50,7 @@ func (c *compiler) write(n *api.Node) {
 	case api.NIndex:
 		c.add(WriteIndex, 0)
 	default:
-		c.withKey(WriteName, n.Text)
+		c.writeName(n.Text)
 	}
 }
 

@@ -18,15 +18,29 @@ func (c *compiler) statement(n *api.Node) {
 		c.effect(n.Kids[0])
 	case api.NIf:
 		c.condition(n)
-	case api.NDo, api.NWhile, api.NFor, api.NSwitch, api.NLabel:
+	case api.NDo, api.NWhile, api.NFor, api.NForIn, api.NSwitch, api.NLabel:
 		c.labelled(n)
 	case api.NContinue:
 		c.continueWith(n.Text)
 	case api.NBreak:
 		c.breakFrom(n.Text)
+	case api.NReturn:
+		c.valueOr(n.Kids[0])
+		c.returns()
 	case api.NThrow:
 		c.expression(n.Kids[0])
 		c.add(Throw, 0)
+	case api.NTry:
+		c.try(n)
+	}
+}
+
+// valueOr: an expression, or none, which is undefined.
+func (c *compiler) valueOr(n *api.Node) {
+	if isNone(n) {
+		c.add(Nothing, 0)
+	} else {
+		c.expression(n)
 	}
 }
 
@@ -41,7 +55,7 @@ func (c *compiler) effect(n *api.Node) {
 func (c *compiler) variable(n *api.Node) {
 	if !isNone(n.Kids[0]) {
 		c.expression(n.Kids[0])
-		c.withKey(WriteName, n.Text)
+		c.writeName(n.Text)
 		c.add(Pop, 0)
 	}
 }
@@ -62,7 +76,7 @@ func (c *compiler) condition(n *api.Node) {
 
 // labelled: a statement that a jump can mean: labels in front of a loop or a switch are its own.
 func (c *compiler) labelled(n *api.Node) {
-	t := &target{}
+	t := &region{}
 	for ; n.Kind == api.NLabel; n = n.Kids[0] {
 		t.labels = append(t.labels, n.Text)
 	}
@@ -73,6 +87,8 @@ func (c *compiler) labelled(n *api.Node) {
 		c.loop(t, func() { c.whileLoop(n, t) })
 	case api.NFor:
 		c.loop(t, func() { c.forLoop(n, t) })
+	case api.NForIn:
+		c.forIn(n, t)
 	case api.NSwitch:
 		t.nameless = true
 		c.within(t, func() { c.choice(n) })
@@ -81,7 +97,7 @@ func (c *compiler) labelled(n *api.Node) {
 	}
 }
 
-func (c *compiler) loop(t *target, inner func()) {
+func (c *compiler) loop(t *region, inner func()) {
 	t.loop, t.nameless = true, true
 	c.within(t, inner)
 }

@@ -14,9 +14,10 @@ import (
 // maker makes up programs.
 type maker struct {
 	*rand.Rand
-	deep   int
-	loops  int
-	labels []string
+	deep     int
+	loops    int
+	labels   []string
+	function bool
 }
 
 func (m *maker) one(l ...string) string { return l[m.IntN(len(l))] }
@@ -49,7 +50,7 @@ func (m *maker) expression() string {
 		return m.one(m.literal(), m.name())
 	}
 	e := m.expression
-	switch m.IntN(16) {
+	switch m.IntN(20) {
 	case 0, 1:
 		return m.literal()
 	case 2, 3:
@@ -72,6 +73,14 @@ func (m *maker) expression() string {
 		return "[" + e() + m.one(", ", ", , ") + e() + "]"
 	case 14:
 		return "({x: " + e() + ", " + m.one("y", "1", "length", "toString", "valueOf") + ": " + e() + "})"
+	case 15:
+		return "({get " + m.one("x", "y", "valueOf", "toString", "length") + m.body("") + ", set " + m.one("x", "y", "1") + m.body("v") + "})"
+	case 16:
+		return "(function " + m.one("", "a", "f") + m.body(m.one("", "a", "b, c")) + ")"
+	case 17:
+		return "(function " + m.one("", "a", "f") + m.body(m.one("", "a", "b, c")) + ")(" + e() + ", " + e() + ")"
+	case 18:
+		return "(" + m.one("new f", "new o.f", "f", "o.f", "f", "o.f") + "(" + e() + "))"
 	}
 	return m.one("Error(", "new TypeError(", "print(", "[1, 'b'].join(", m.one("print(", "o.x(", "a(", "new o.x(")) + e() + ")"
 }
@@ -83,7 +92,7 @@ func (m *maker) statement() string {
 		return m.one("print("+m.expression()+");", m.expression()+";")
 	}
 	s := m.statement
-	switch m.IntN(12) {
+	switch m.IntN(16) {
 	case 0, 1:
 		return "print(" + m.expression() + ", " + m.expression() + ");"
 	case 2:
@@ -102,8 +111,27 @@ func (m *maker) statement() string {
 		return m.labelled("") + "{ " + s() + m.end(" }")
 	case 10:
 		return m.jump()
+	case 11:
+		return "try { " + s() + " " + s() + " } catch (" + m.one("e", "a") + ") { " + s() + " }"
+	case 12:
+		return "try { " + s() + " } finally { " + s() + " }"
+	case 13:
+		return "try { " + s() + " } catch (e) { " + s() + " } finally { " + s() + " }"
+	case 14:
+		return m.jump()
 	}
 	return m.one("throw "+m.expression()+";", ";", m.expression()+";")
+}
+
+// body: the parameters and body of a function, in which no loop or label of before can be meant.
+func (m *maker) body(params string) string {
+	outer := *m
+	m.loops, m.labels, m.function = 0, nil, true
+	m.deep += 2
+	text := "(" + params + ") { " + m.statement() + m.one("", " function f(a) { return a }", " var a = arguments;", " return "+m.expression()) + " }"
+	m.deep -= 2
+	m.loops, m.labels, m.function = outer.loops, outer.labels, outer.function
+	return text
 }
 
 // labelled: a label ahead, or not; kind: l for a loop's.
@@ -124,13 +152,17 @@ func (m *maker) loop() string {
 	body := m.statement()
 	m.loops--
 	n := fmt.Sprint(m.IntN(4))
-	switch m.IntN(4) {
+	switch m.IntN(6) {
 	case 0:
 		return m.end(label + "for (var " + i + " = 0; " + i + " < " + n + "; " + i + "++) " + body)
 	case 1:
 		return m.end("{ var " + i + " = 0; " + label + "while (" + i + "++ < " + n + ") " + body + " }")
 	case 2:
 		return m.end("{ var " + i + " = 0; " + label + "do " + body + " while (" + i + "++ < " + n + ") }")
+	case 3:
+		return m.end(label + "for (var " + i + " in " + m.expression() + ") " + body)
+	case 4:
+		return m.end(label + "for (" + m.place() + " in " + m.one("o", "p", "{x: 1, y: 2}") + ") " + body)
 	}
 	return m.end("{ var " + i + " = 0; " + label + "for (;;) { if (" + i + "++ > " + n + ") break; " + body + " } }")
 }
@@ -146,6 +178,9 @@ func (m *maker) jump() string {
 			l = append(l, "continue "+label+";")
 		}
 	}
+	if m.function {
+		l = append(l, "return;", "return "+m.expression()+";")
+	}
 	if l == nil {
 		return ";"
 	}
@@ -153,8 +188,8 @@ func (m *maker) jump() string {
 }
 
 func (m *maker) program() string {
-	m.deep, m.loops, m.labels = 0, 0, nil
-	src := "var a = " + m.literal() + ", b = " + m.literal() + ", c = " + m.literal() + ", o = {x: print}, p = [1, [2], 'a']; "
+	m.deep, m.loops, m.labels, m.function = 0, 0, nil, false
+	src := "var a = " + m.literal() + ", b = " + m.literal() + ", c = " + m.literal() + ", o = {x: print, f: f, get y() { return this.x }, set y(v) { this.x = v }}, p = [1, [2], 'a'], k9; function f" + m.body("a") + " "
 	for range 1 + m.IntN(5) {
 		src += m.statement() + " "
 	}
@@ -197,6 +232,58 @@ func fewerSteps(t *testing.T, m *maker, src string, r api.Result) {
 	}
 }
 
+// P84: around a program's statements, what changes nothing must change nothing.
+func TestWrapped(t *testing.T) {
+	m := &maker{Rand: rand.New(rand.NewPCG(22, 7))}
+	for range 1000 {
+		src := m.program()
+		at := strings.Index(src, "function f(")
+		names, rest := src[:at], src[at:]
+		end := strings.LastIndex(rest, "print(a, b, c)") // the function ends somewhere ahead of it: it is left where it is
+		function, statements := cutFunction(rest[:end])
+		whole := run(src, 40)
+		for _, w := range []struct {
+			front, back string
+			steps       int
+		}{
+			{"try { ", " } finally { }", 0},
+			{"try { ", " } catch (e9) { throw e9 }", 0},
+			{"try { try { ", " } finally { void 0 } } catch (e9) { throw e9 } finally { }", 0},
+			{"l9: { ", " }", 0},
+			{"switch (1) { default: ", " }", 0},
+			{"for (var k9 in {x: 1}) { ", " }", 1},
+			{"try { throw 1 } catch (e9) { ", " }", 0},
+			{"try { } finally { ", " }", 0},
+			{"try { throw 1 } catch (e9) { } finally { ", " }", 0},
+			{"l9: try { throw 1 } finally { try { ", " } finally { } break l9 }", 0},
+		} {
+			wrapped := names + function + w.front + statements + w.back + rest[end:]
+			got := run(wrapped, 40+w.steps)
+			got.Steps -= w.steps
+			if !reflect.DeepEqual(got, whole) {
+				t.Fatalf("%s\n got %+v\n%s\n got %+v", src, whole, wrapped, got)
+			}
+		}
+	}
+}
+
+// cutFunction: a function at the front of a text, and what follows.
+func cutFunction(text string) (string, string) {
+	deep := 0
+	for i, c := range text {
+		switch c {
+		case '{':
+			deep++
+		case '}':
+			deep--
+			if deep == 0 {
+				return text[:i+1], text[i+1:]
+			}
+		}
+	}
+	return text, ""
+}
+
 // P1: whatever the text is, and whatever world it meets.
 func TestRandomTexts(t *testing.T) {
 	m := &maker{Rand: rand.New(rand.NewPCG(7, 8))}
@@ -207,7 +294,7 @@ func TestRandomTexts(t *testing.T) {
 			src += m.one("a", "o", " ", "\n", "print", "(", ")", "(", ")", "[", "]", "{", "}", ";", ",", ".x", "=", "+", "++", "-", "in", " in ", "1", "'a'", "/a/", "var ", "for", "while", "do ", "if", "else ", "switch", "case 1:", "default:", "break ", "continue ", "throw ", "new ", "delete ", "typeof ", "this", "null", "!", "?", ":", "&&", "function", "try", "catch", "finally", "get ", "\xff", "\u2028", "=", "Error")
 		}
 		r := w.Run(src, api.Limits{Steps: m.IntN(50)})
-		if (r.How == 0) != (r.Text == "" && r.At == 0 && r.Lines == nil && r.Steps == 0 && r.How == 0) {
+		if r.How < api.Ended || r.How > api.Cut {
 			t.Fatalf("%q: %+v", src, r)
 		}
 		if i%1000 == 0 {

@@ -115,16 +115,28 @@ func TestLines(t *testing.T) {
 	}
 }
 
-// What is not built yet has the zero result, and does nothing.
-func TestNotBuilt(t *testing.T) {
+// P120: functions stay with the scopes that they keep, and are run for the steps of the run that calls them.
+func TestFunctionsStay(t *testing.T) {
 	w := ecmacore.New(0)
-	for _, src := range []string{"function f() { }", "a = function () { }", "try { a = 1 } catch (e) { }", "try { a = 1 } finally { }", "for (a in {x: 1}) ;", "a = {get x() { return 1 }}", "a = {set x(v) { }}", "a = 1; if (0) { b = [1, {c: function () { }}] }"} {
-		if r := w.Run("var a = 0; "+src, api.Limits{Steps: 9}); !reflect.DeepEqual(r, api.Result{}) {
-			t.Errorf("%s: %+v", src, r)
+	for _, c := range []struct {
+		src   string
+		steps int
+		want  api.Result
+	}{
+		{"function counter() { var n = 0; return function () { for (var i = 0; i < 2; i++) n++; return n } } var c = counter()", 9, api.Result{How: api.Ended, Steps: 1}},
+		{"print(c())", 9, api.Result{Lines: []string{"2"}, How: api.Ended, Steps: 3}},
+		{"print(c())", 2, api.Result{How: api.Cut, Steps: 2}},
+		{"print(c(), counter()())", 9, api.Result{Lines: []string{"5 2"}, How: api.Ended, Steps: 7}},
+		{"var o = {get x() { return c }, set x(f) { c = f }}; try { throw o } catch (e) { o.e = function () { return e } }", 9, api.Result{How: api.Ended}},
+		{"o.x = function () { return 'new' }; print(c(), o.e() === o, o.x())", 9, api.Result{Lines: []string{"new true new"}, How: api.Ended, Steps: 5}},
+		{"(function () { throw c })()", 9, api.Result{How: api.Thrown, Text: "Function", Steps: 1}},
+		{"function f() { try { f() } finally { } } f()", 1000, api.Result{How: api.Thrown, Text: rangeError, Steps: 150}},
+		{"function f() { return 1 } print(f(), c())", 9, api.Result{Lines: []string{"1 new"}, How: api.Ended, Steps: 2}},
+	} {
+		if r := w.Run(c.src, api.Limits{Steps: c.steps}); !reflect.DeepEqual(r, c.want) {
+			t.Errorf("%s\n got %+v\nwant %+v", c.src, r, c.want)
 		}
-	}
-	if r := w.Run("print(typeof a)", api.Limits{}); len(r.Lines) != 1 || r.Lines[0] != "undefined" {
-		t.Errorf("%+v", r)
+		w.Collect()
 	}
 }
 
@@ -151,9 +163,14 @@ func TestCollected(t *testing.T) {
 	}
 }
 
-// Example 7 of the document, and those of the README.
+// Examples 7 to 9 of the document, and those of the README.
 func TestExamples(t *testing.T) {
 	says(t, "var a = [1, 2]; a.length = 1; print(a, a[1], typeof zz)", "1 undefined undefined")
+	ends(t,
+		end{src: "function f(n) { return n ? f(n - 1) + 1 : 0 } print(f(100))", steps: 101, lines: []string{"100"}},
+		end{src: "function f(n) { return n ? f(n - 1) + 1 : 0 } f(200)", text: rangeError, steps: 150},
+		end{src: "(function () { l: for (var i = 0; i < 3; i++) try { continue l } finally { print(i) } })()", steps: 4, lines: []string{"0", "1", "2"}},
+	)
 	w := ecmacore.New(0)
 	for _, c := range []struct {
 		src   string
@@ -164,6 +181,7 @@ func TestExamples(t *testing.T) {
 		{"a[2] = 3; throw a.length", 100, api.Result{How: api.Thrown, Text: "number 3"}},
 		{"for (;;) print(a)", 9, api.Result{Lines: []string{"1,2,3", "1,2,3"}, How: api.Cut, Steps: 9}},
 		{"1 = 2", 0, api.Result{How: api.Early, Text: "SyntaxError"}},
+		{"function f(n) { return n ? n * f(n - 1) : 1 } try { print(f(5)); zz } catch (e) { print(e) } finally { print('end') }", 100, api.Result{Lines: []string{"120", "ReferenceError", "end"}, How: api.Ended, Steps: 6}},
 	} {
 		if r := w.Run(c.src, api.Limits{Steps: c.steps}); !reflect.DeepEqual(r, c.want) {
 			t.Errorf("%s\n got %+v\nwant %+v", c.src, r, c.want)
@@ -189,6 +207,17 @@ func TestLargePrograms(t *testing.T) {
 		{of("switch (1) {", "case 0:", "default: print(2)}"), "2"},
 		{of("var a", ",a", " = 5; print(a)"), "5"},
 		{of("print(", "0?0:", "1)"), ""},
+		{of("var n = 0; function f(x) { n++ }", "f();", "print(n)"), "16374"},
+		{of("var n = 0;", "function f(){n++}", "f(); print(n)"), "1"},
+		{of("function f() { return 1", ",1", "} print(f())"), "1"},
+		{of("function f() { return arguments.length } print(f(1", ",1", "))"), "32743"},
+		{of("function f(a", ",a1", ") { }"), ""},
+		{of("var n = 0;", "try{n++}finally{}", "print(n)"), "3854"},
+		{of("var n = 0;", "try{throw 1}catch(e){n+=e}", "print(n)"), "2519"},
+		{of("function f() { var a;", "try{return}finally{return}", "} print(f())"), "undefined"},
+		{of("var n = 0;", "for(var k in[1])n++;", "print(n)"), "3275"},
+		{of("var a = {};", "a={get x(){return a}};", "print(a.x === a)"), "true"},
+		{of("l: for (var n = 0; n < 3; n++) { try { try { ", "if(0)break l;", " } finally { } } finally { } } print(n)"), "3"},
 	} {
 		r := run(c.src, many)
 		if c.line == "" {

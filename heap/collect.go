@@ -7,7 +7,15 @@ type Holder interface {
 
 // Marker is told what is held, and so what is kept.
 type Marker struct {
-	work []*Object // met, but not gone through
+	work  []*Object // met, but not gone through
+	round int       // which collection it is
+}
+
+// First: whether this mark is met for the first time in this collection. So what many hold can be gone through once.
+func (m *Marker) First(mark *int) bool {
+	first := *mark != m.round
+	*mark = m.round
+	return first
 }
 
 // Object is held (nil: none is).
@@ -31,7 +39,8 @@ func (m *Marker) Shape(s *Shape) {
 
 // Collect: objects that cannot be reached from the roots are gone; how many.
 func (h *Heap) Collect(roots Holder) int {
-	m := &Marker{}
+	h.rounds++
+	m := &Marker{round: h.rounds}
 	roots.Hold(m)
 	for len(m.work) > 0 {
 		o := m.work[len(m.work)-1]

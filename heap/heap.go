@@ -12,6 +12,7 @@ import (
 type Heap struct {
 	objects []*Object // by their numbers, rising
 	made    int       // how many were ever made: none gets a number that another had
+	rounds  int       // how often was collected
 	first   *Shape    // of objects to which no name came
 }
 

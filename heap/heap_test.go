@@ -82,6 +82,36 @@ func TestInner(t *testing.T) {
 }
 
 // Shapes that no object has go, with their names; those that somebody remembers stay.
+// shared is what many hold.
+type shared struct {
+	met, gone int // the mark; how often it was gone through
+}
+
+func (s *shared) Hold(m *Marker) {
+	if m.First(&s.met) {
+		s.gone++
+	}
+}
+
+// A mark is new to each collection once.
+func TestFirst(t *testing.T) {
+	h := New()
+	s, other := &shared{}, &shared{}
+	var l holds
+	for range 5 {
+		o := h.Make("Object", nil)
+		o.Inner = s
+		l.objects = append(l.objects, o)
+	}
+	l.objects[4].Inner = other
+	for i := range 3 {
+		h.Collect(l)
+		if s.gone != i+1 || other.gone != i+1 {
+			t.Errorf("collection %d: gone through %d and %d times", i, s.gone, other.gone)
+		}
+	}
+}
+
 func TestShapesGo(t *testing.T) {
 	h := New()
 	build := func(keys ...string) *Object {

@@ -21,7 +21,7 @@ func (m *Machine) MakeFunction(length int, f *Function) *heap.Object {
 	return o
 }
 
-func (m *Machine) becomeFunction(o *heap.Object, length int, f *Function) {
+func (m *Machine) becomeFunction(o *heap.Object, length int, f heap.Holder) {
 	o.Inner = f
 	m.Define(o, lengthKey(), heap.Whole(heap.Number(float64(length)), heap.Traits{}))
 }
@@ -41,8 +41,13 @@ func Arg(args []heap.Value, i int) heap.Value {
 func (m *Machine) Call(f *heap.Object, this heap.Value, args ...heap.Value) heap.Value {
 	var v heap.Value
 	m.enter()
-	if inner, ok := f.Inner.(*Function); ok {
+	switch inner := f.Inner.(type) {
+	case *closure:
+		v = m.perform(f, inner, this, args)
+	case *Function:
+		m.shut++
 		v = inner.Call(m, this, args)
+		m.shut--
 	}
 	m.calls--
 	return v
@@ -61,12 +66,23 @@ func (m *Machine) construct(f heap.Value, args []heap.Value) heap.Value {
 	if !IsFunction(f) {
 		panic(m.TypeError())
 	}
-	inner, ok := f.Ref.Inner.(*Function)
-	if !ok || inner.New == nil {
-		panic(m.TypeError())
+	switch inner := f.Ref.Inner.(type) {
+	case *closure:
+		return m.constructBy(f.Ref, args)
+	case *Function:
+		if inner.New != nil {
+			return m.constructIn(inner, args)
+		}
 	}
+	panic(m.TypeError())
+}
+
+// constructIn: likewise, with a function of the library.
+func (m *Machine) constructIn(f *Function, args []heap.Value) heap.Value {
 	m.enter()
-	v := inner.New(m, args)
+	m.shut++
+	v := f.New(m, args)
+	m.shut--
 	m.calls--
 	return v
 }

@@ -27,15 +27,22 @@ func (m *Machine) Primitive(v heap.Value, hint Hint) heap.Value {
 		names[0], names[1] = names[1], names[0]
 	}
 	for _, name := range names {
-		f := m.Get(v, heap.Key{Name: name})
-		if !IsFunction(f) {
-			continue
-		}
-		if p := m.Call(f.Ref, v); p.Kind != api.Object {
+		if p := m.ask(v, name); p.Kind != api.Object {
 			return p
 		}
 	}
 	panic(m.TypeError())
+}
+
+// ask: what a function of an object gives, called on it; the object, if it is none.
+func (m *Machine) ask(v heap.Value, name string) heap.Value {
+	m.shut++
+	given := v
+	if f := m.Get(v, heap.Key{Name: name}); IsFunction(f) {
+		given = m.Call(f.Ref, v)
+	}
+	m.shut--
+	return given
 }
 
 // Truth: whether it is taken for true.

@@ -6,14 +6,7 @@ import (
 	"ecmacore/heap"
 )
 
-// frame: code that is being run, and on what.
-type frame struct {
-	code *code.Code
-	at   int // the next instruction
-	this heap.Value
-}
-
-// execute: up to the end of the code.
+// execute: up to the end of the code. What an instruction works on stays on the stack until nothing more is called: the collector knows of it there.
 func (m *Machine) execute(f *frame) {
 	for {
 		in := f.code.Instrs[f.at]
@@ -21,28 +14,34 @@ func (m *Machine) execute(f *frame) {
 		switch {
 		case in.Op == code.End:
 			return
-		case in.Op <= code.JumpCase:
-			m.jump(f, in)
+		case in.Op == code.Return:
+			f.gives = m.pop()
+			return
 		case in.Op == code.Step:
 			m.Step()
 			m.collectIfMany()
 		case in.Op == code.Throw:
 			panic(Thrown{Value: m.pop()})
+		case in.Op <= code.JumpCase:
+			m.jump(f, in)
+		case in.Op <= code.EndKeys:
+			m.regions(f, in)
 		case in.Op <= code.Under:
 			m.moves(f, in)
 		case in.Op <= code.WriteName:
 			m.names(in.Op, f.code.Keys[in.Arg])
+		case in.Op <= code.RefuseVariable:
+			m.variables(f, in)
 		case in.Op <= code.DeleteIndex:
 			m.members(f, in)
 		case in.Op <= code.New:
 			m.calling(in)
-		case in.Op <= code.MakeRegex:
+		case in.Op <= code.MakeFunction:
 			m.literals(f, in)
 		case in.Op < code.Binary:
-			m.push(m.unary(in.Op, m.pop()))
+			m.replace(1, m.unary(in.Op, m.top(0)))
 		default:
-			right := m.pop()
-			m.push(m.binary(in.Op, m.pop(), right))
+			m.replace(2, m.binary(in.Op, m.top(1), m.top(0)))
 		}
 	}
 }
@@ -91,25 +90,27 @@ func (m *Machine) members(f *frame, in code.Instr) {
 		m.solid(m.top(0))
 	case code.Place:
 		m.solid(m.top(1))
-		m.push(m.plainKey(m.pop()))
+		m.replace(1, m.plainKey(m.top(0)))
 	case code.ReadDot:
-		m.push(m.Get(m.pop(), f.code.Keys[in.Arg]))
+		m.replace(1, m.Get(m.top(0), f.code.Keys[in.Arg]))
 	case code.MethodDot:
 		m.push(m.Get(m.top(0), f.code.Keys[in.Arg]))
-	case code.ReadIndex, code.MethodIndex:
-		m.readIndex(in.Op)
+	case code.ReadIndex:
+		m.replace(2, m.atIndex())
+	case code.MethodIndex:
+		m.replace(1, m.atIndex())
 	case code.WriteDot:
-		v := m.pop()
-		m.Put(m.pop(), f.code.Keys[in.Arg], v)
-		m.push(v)
+		m.Put(m.top(1), f.code.Keys[in.Arg], m.top(0))
+		m.replace(2, m.top(0))
 	case code.WriteIndex:
-		v, k := m.pop(), m.Key(m.pop())
-		m.Put(m.pop(), k, v)
-		m.push(v)
+		m.Put(m.top(2), m.Key(m.top(1)), m.top(0))
+		m.replace(3, m.top(0))
 	case code.DeleteDot:
-		m.remove(f.code.Keys[in.Arg])
+		m.Delete(m.Object(m.top(0)), f.code.Keys[in.Arg])
+		m.replace(1, heap.Boolean(true))
 	case code.DeleteIndex:
-		m.remove(m.Key(m.pop()))
+		m.Delete(m.Object(m.top(1)), m.Key(m.top(0)))
+		m.replace(2, heap.Boolean(true))
 	}
 }
 
@@ -121,20 +122,10 @@ func (m *Machine) plainKey(v heap.Value) heap.Value {
 	return v
 }
 
-// readIndex: the object must have properties, before the key is taken for a string. To be called on it, it stays.
-func (m *Machine) readIndex(op code.Op) {
+// atIndex: the value at the key on the top. The object must have properties, before the key is taken for a string.
+func (m *Machine) atIndex() heap.Value {
 	m.solid(m.top(1))
-	k := m.Key(m.pop())
-	v := m.Get(m.top(0), k)
-	if op == code.ReadIndex {
-		m.drop(1)
-	}
-	m.push(v)
-}
-
-func (m *Machine) remove(k heap.Key) {
-	m.Delete(m.Object(m.pop()), k)
-	m.push(heap.Boolean(true))
+	return m.Get(m.top(1), m.Key(m.top(0)))
 }
 
 func (m *Machine) calling(in code.Instr) {

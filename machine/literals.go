@@ -20,8 +20,12 @@ func (m *Machine) literals(f *frame, in code.Instr) {
 		m.push(heap.Of(m.Make(ObjectClass, m.Prototypes.Object)))
 	case code.SetProperty:
 		m.setInto(f.code.Keys[in.Arg])
+	case code.SetGet, code.SetSet:
+		m.setFunction(in.Op, f.code.Keys[in.Arg])
 	case code.MakeRegex:
 		m.push(heap.Of(m.regex(f.code.Patterns[in.Arg])))
+	case code.MakeFunction:
+		m.push(m.makeClosure(f.code.Functions[in.Arg], f.scope))
 	}
 }
 
@@ -29,6 +33,19 @@ func (m *Machine) literals(f *frame, in code.Instr) {
 func (m *Machine) setInto(k heap.Key) {
 	v := m.pop()
 	m.Define(m.top(0).Ref, k, heap.Whole(v, heap.AllFlags()))
+}
+
+// setFunction: the top becomes one of the two functions of a property.
+func (m *Machine) setFunction(op code.Op, k heap.Key) {
+	f := m.pop().Ref
+	told := heap.Told{HasEnumerable: true, HasConfigurable: true}
+	told.Enumerable, told.Configurable = true, true
+	if op == code.SetGet {
+		told.HasGet, told.Get = true, f
+	} else {
+		told.HasSet, told.Set = true, f
+	}
+	m.Define(m.top(0).Ref, k, told)
 }
 
 // regex: an object with a pattern.

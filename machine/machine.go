@@ -16,7 +16,9 @@ type Machine struct {
 	heap  *heap.Heap
 	bound int // of objects: when there are more, those that cannot be reached are collected
 	stack []heap.Value
-	calls int // how many are being done
+	frame *frame // the innermost
+	calls int    // how many are being done
+	shut  int    // how many functions of the library and conversions are being done, which hold objects that the collector does not know of
 	run
 }
 
@@ -49,6 +51,9 @@ func (m *Machine) Hold(k *heap.Marker) {
 	for _, v := range m.stack {
 		k.Value(v)
 	}
+	for f := m.frame; f != nil; f = f.outer {
+		f.Hold(k)
+	}
 }
 
 // Collect: objects that cannot be reached are gone; how many.
@@ -59,7 +64,7 @@ func (m *Machine) Live() int { return m.heap.Live() }
 
 // collectIfMany: so seldom that going through all objects costs no more than making them.
 func (m *Machine) collectIfMany() {
-	if m.Live() <= m.bound {
+	if m.shut > 0 || m.Live() <= m.bound {
 		return
 	}
 	m.Collect()

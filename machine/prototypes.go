@@ -4,13 +4,14 @@ import "ecmacore/heap"
 
 // The classes of objects that the machine makes. (An Array's is heap's.)
 const (
-	ObjectClass   = "Object"
-	FunctionClass = "Function"
-	BooleanClass  = "Boolean"
-	NumberClass   = "Number"
-	StringClass   = "String"
-	RegExpClass   = "RegExp"
-	ErrorClass    = "Error"
+	ObjectClass    = "Object"
+	FunctionClass  = "Function"
+	ArgumentsClass = "Arguments"
+	BooleanClass   = "Boolean"
+	NumberClass    = "Number"
+	StringClass    = "String"
+	RegExpClass    = "RegExp"
+	ErrorClass     = "Error"
 )
 
 // Prototypes stand behind objects, each by its class, or kind of error.

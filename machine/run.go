@@ -32,8 +32,9 @@ func (m *Machine) Run(c *code.Code, steps int) (r api.Result) {
 	const mostSteps = 1 << 20
 	m.run = run{most: min(max(steps, 0), mostSteps)}
 	defer func() { r = m.ended(recover()) }()
+	m.hoist(c)
 	m.declare(c.Declared)
-	m.execute(&frame{code: c, this: heap.Of(m.Global)})
+	m.complete(&frame{code: c, this: heap.Of(m.Global)})
 	return r
 }
 
@@ -59,7 +60,7 @@ func (m *Machine) ended(end any) api.Result {
 	default:
 		panic(end)
 	}
-	m.run, m.calls, m.stack = run{}, 0, nil
+	m.run, m.stack, m.frame, m.calls, m.shut = run{}, nil, nil, 0, 0
 	return r
 }
 

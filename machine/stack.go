@@ -18,6 +18,12 @@ func (m *Machine) top(beneath int) heap.Value { return m.stack[len(m.stack)-1-be
 
 func (m *Machine) drop(n int) { m.stack = m.stack[:len(m.stack)-n] }
 
+// replace: a value comes in the place of the topmost.
+func (m *Machine) replace(n int, v heap.Value) {
+	m.drop(n)
+	m.push(v)
+}
+
 // take: the topmost values, in a list of their own: a function may keep it.
 func (m *Machine) take(n int) []heap.Value {
 	l := make([]heap.Value, n)
@@ -40,6 +46,8 @@ func (m *Machine) under(n int) {
 // moves: what an instruction does that looks at no value.
 func (m *Machine) moves(f *frame, in code.Instr) {
 	switch in.Op {
+	case code.Nothing:
+		m.push(heap.Value{})
 	case code.Push:
 		m.push(f.code.Values[in.Arg])
 	case code.This:
