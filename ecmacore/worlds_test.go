@@ -163,6 +163,29 @@ func TestCollected(t *testing.T) {
 	}
 }
 
+// Likewise in functions, without a loop; and what scopes keep stays.
+func TestCollectedInFunctions(t *testing.T) {
+	for _, src := range []string{
+		"function f(n) { [n]; if (n) { f(n - 1); f(n - 1) } } f(13)",
+		"function f(n) { var a = [n]; if (n) { f(n - 1); f(n - 1) } return a[0] } f(13)",
+		"function f(n) { this.n = n; if (n) { new f(n - 1); new f(n - 1) } } new f(13)",
+		"function f(n) { function g() { return n } if (n) { f(n - 1); f(n - 1) } return g } f(12)",
+		"var o = {get x() { for (var i = 0; i < 15000; i++) ({}); return 1 }}; o.x",
+		"(function () { for (var i = 0; i < 15000; i++) (function () { return arguments })(i) })()",
+		"for (var i = 0; i < 15000; i++) try { null.x } catch (e) { }",
+		"for (var i = 0; i < 5000; i++) for (var k in 'ab') ({})",
+	} {
+		w := ecmacore.New(0)
+		r := w.Run(src, api.Limits{Steps: many})
+		if n := w.Stats().Live; r.How != api.Ended || r.Steps < 8000 || n > 5000 {
+			t.Errorf("%s: %d objects, %+v", src, n, r)
+		}
+	}
+	says(t, "function mk(n) { var o = {n: n}; return function () { for (var i = 0; i < 3000; i++) [i]; return o.n } } var l = []; for (var i = 0; i < 20; i++) l[i] = mk(i); var s = ''; for (i = 0; i < 20; i++) s += l[i]() + ' '; print(s)", "0 1 2 3 4 5 6 7 8 9 10 11 12 13 14 15 16 17 18 19 ")
+	says(t, "var s = ''; for (var k in {a: 1, b: 2}) { for (var i = 0; i < 5000; i++) ({x: i}); s += k } print(s)", "ab")
+	says(t, "print(1 + +{valueOf: function () { var o = {x: 5}; for (var i = 0; i < 9000; i++) ({x: i}); return o.x }})", "6")
+}
+
 // Examples 7 to 9 of the document, and those of the README.
 func TestExamples(t *testing.T) {
 	says(t, "var a = [1, 2]; a.length = 1; print(a, a[1], typeof zz)", "1 undefined undefined")

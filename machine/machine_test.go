@@ -179,12 +179,82 @@ func TestVariables(t *testing.T) {
 	}
 }
 
+// P83: a function that is declared where the global object has a property of that name.
+func TestDeclaredFunctions(t *testing.T) {
+	for _, c := range []struct {
+		was   heap.Told
+		text  string // what is thrown
+		flags heap.Traits
+	}{
+		{heap.Whole(heap.Number(1), heap.Traits{Configurable: true}), "", heap.Traits{Writable: true, Enumerable: true}},
+		{heap.Whole(heap.Number(1), heap.AllFlags()), "", heap.Traits{Writable: true, Enumerable: true}},
+		{heap.Whole(heap.Number(1), heap.Traits{Writable: true, Enumerable: true}), "", heap.Traits{Writable: true, Enumerable: true}},
+		{heap.Whole(heap.Number(1), heap.Traits{Writable: true}), "Error", heap.Traits{Writable: true}},
+		{heap.Whole(heap.Number(1), heap.Traits{Enumerable: true}), "Error", heap.Traits{Enumerable: true}},
+		{heap.Told{HasGet: true, HasConfigurable: true, Property: heap.Property{Traits: heap.Traits{Configurable: true}}}, "", heap.Traits{Writable: true, Enumerable: true}},
+		{heap.Told{HasGet: true, HasEnumerable: true, Property: heap.Property{Traits: heap.Traits{Enumerable: true}}}, "Error", heap.Traits{Enumerable: true, Functions: true}},
+	} {
+		m := machine.New()
+		define(t, m.Global, "f", c.was)
+		r := m.Run(compiled(t, "function f() { }"), 0)
+		p, _ := m.Global.Own(heap.KeyOf("f"))
+		if r.Text != c.text || p.Traits != c.flags || machine.IsFunction(p.Value) != (c.text == "") {
+			t.Errorf("%+v: %+v, %+v", c.was, r, p)
+		}
+	}
+}
+
+// P83: a Set that is not configurable is not called.
+func TestDeclaredOverFunctions(t *testing.T) {
+	m := machine.New()
+	var this heap.Value
+	var args []heap.Value
+	f := function(m, &this, &args, heap.Value{})
+	told := functions(f, f)
+	told.Enumerable, told.HasEnumerable = true, true
+	define(t, m.Global, "f", told)
+	if r := m.Run(compiled(t, "function f() { }"), 0); r.How != api.Thrown || args != nil {
+		t.Errorf("%+v, %v", r, args)
+	}
+}
+
+// P82: the properties of a function, of what stands behind those that it makes, and of arguments: in which order, with which flags.
+func TestFunctionProperties(t *testing.T) {
+	m := machine.New()
+	m.Run(compiled(t, "function f(a, b, c) { return arguments } var l = f(7, 8)"), 9)
+	f := m.Get(heap.Of(m.Global), heap.KeyOf("f"))
+	behind := m.Get(f, heap.KeyOf("prototype"))
+	l := m.Get(heap.Of(m.Global), heap.KeyOf("l"))
+	for _, c := range []struct {
+		o     *heap.Object
+		class string
+		proto *heap.Object
+		keys  []string
+		props []heap.Property
+	}{
+		{f.Ref, "Function", m.Prototypes.Function, []string{"length", "prototype"}, []heap.Property{{Value: heap.Number(3)}, {Value: behind, Traits: heap.Traits{Writable: true}}}},
+		{behind.Ref, "Object", m.Prototypes.Object, []string{"constructor"}, []heap.Property{{Value: f, Traits: heap.Traits{Writable: true, Configurable: true}}}},
+		{l.Ref, "Arguments", m.Prototypes.Object, []string{"0", "1", "length"}, []heap.Property{{Value: heap.Number(7), Traits: heap.AllFlags()}, {Value: heap.Number(8), Traits: heap.AllFlags()}, {Value: heap.Number(2), Traits: heap.Traits{Writable: true, Configurable: true}}}},
+	} {
+		if c.o.Class != c.class || c.o.Proto != c.proto || len(c.o.Keys()) != len(c.keys) {
+			t.Fatalf("%s, %v, want %s, %q", c.o.Class, c.o.Keys(), c.class, c.keys)
+		}
+		for i, k := range c.o.Keys() {
+			if p, _ := c.o.Own(k); k.Text() != c.keys[i] || p != c.props[i] {
+				t.Errorf("%s: %s %+v, want %s %+v", c.class, k.Text(), p, c.keys[i], c.props[i])
+			}
+		}
+	}
+}
+
 // P83: where variables may not come to the global object.
 func TestFixedGlobal(t *testing.T) {
 	m := machine.New()
 	m.Global.Fixed = true
-	if r := m.Run(compiled(t, "var a"), 0); r.How != api.Thrown || r.Text != "Error" {
-		t.Errorf("%+v", r)
+	for _, src := range []string{"var a", "function a() { }"} {
+		if r := m.Run(compiled(t, src), 0); r.How != api.Thrown || r.Text != "Error" {
+			t.Errorf("%s: %+v", src, r)
+		}
 	}
 	if r := m.Run(compiled(t, ";"), 0); r.How != api.Ended {
 		t.Errorf("%+v", r)
