@@ -11,22 +11,25 @@ import (
 
 const many = 100000 // steps
 
-func run(src string, steps int) api.Result {
-	return ecmacore.New(0).Run(src, api.Limits{Steps: steps})
+// level of a world in which programs are run.
+type level int
+
+func (l level) run(src string, steps int) api.Result {
+	return ecmacore.New(int(l)).Run(src, api.Limits{Steps: steps})
 }
 
 // gives: each expression is printed as that.
-func gives(t *testing.T, cases ...[2]string) {
+func (l level) gives(t *testing.T, cases ...[2]string) {
 	t.Helper()
 	for _, c := range cases {
-		says(t, "print("+c[0]+")", c[1])
+		l.says(t, "print("+c[0]+")", c[1])
 	}
 }
 
 // says: the program prints these lines, and ends.
-func says(t *testing.T, src string, lines ...string) {
+func (l level) says(t *testing.T, src string, lines ...string) {
 	t.Helper()
-	r := run(src, many)
+	r := l.run(src, many)
 	r.Steps = 0
 	if want := (api.Result{Lines: lines, How: api.Ended}); !reflect.DeepEqual(r, want) {
 		t.Errorf("%s\n got %+v\nwant %+v", src, r, want)
@@ -42,14 +45,14 @@ type end struct {
 }
 
 // ends: each program has that result.
-func ends(t *testing.T, cases ...end) {
+func (l level) ends(t *testing.T, cases ...end) {
 	t.Helper()
 	for _, c := range cases {
 		want := api.Result{Lines: c.lines, How: api.Ended, Text: c.text, Steps: c.steps}
 		if c.text != "" {
 			want.How = api.Thrown
 		}
-		if r := run(c.src, many); !reflect.DeepEqual(r, want) {
+		if r := l.run(c.src, many); !reflect.DeepEqual(r, want) {
 			t.Errorf("%s\n got %+v\nwant %+v", c.src, r, want)
 		}
 	}
@@ -63,11 +66,35 @@ const (
 )
 
 // fails: each program throws that at once: nothing was printed, no step was taken.
-func fails(t *testing.T, text string, sources ...string) {
+func (l level) fails(t *testing.T, text string, sources ...string) {
 	t.Helper()
 	for _, src := range sources {
-		ends(t, end{src: src, text: text})
+		l.ends(t, end{src: src, text: text})
 	}
+}
+
+// The same in worlds of level 0.
+
+func run(src string, steps int) api.Result { return level(0).run(src, steps) }
+
+func gives(t *testing.T, cases ...[2]string) {
+	t.Helper()
+	level(0).gives(t, cases...)
+}
+
+func says(t *testing.T, src string, lines ...string) {
+	t.Helper()
+	level(0).says(t, src, lines...)
+}
+
+func ends(t *testing.T, cases ...end) {
+	t.Helper()
+	level(0).ends(t, cases...)
+}
+
+func fails(t *testing.T, text string, sources ...string) {
+	t.Helper()
+	level(0).fails(t, text, sources...)
 }
 
 // of: a string of so many units, as an expression.

@@ -14,6 +14,7 @@ import (
 // maker makes up programs.
 type maker struct {
 	*rand.Rand
+	level    level
 	deep     int
 	loops    int
 	labels   []string
@@ -50,6 +51,9 @@ func (m *maker) expression() string {
 		return m.one(m.literal(), m.name())
 	}
 	e := m.expression
+	if m.level > 0 && m.IntN(4) == 0 {
+		return m.levelOne()
+	}
 	switch m.IntN(20) {
 	case 0, 1:
 		return m.literal()
@@ -83,6 +87,30 @@ func (m *maker) expression() string {
 		return "(" + m.one("new f", "new o.f", "f", "o.f", "f", "o.f") + "(" + e() + "))"
 	}
 	return m.one("Error(", "new TypeError(", "print(", "[1, 'b'].join(", m.one("print(", "o.x(", "a(", "new o.x(")) + e() + ")"
+}
+
+// levelOne: a call of what level 1 has.
+func (m *maker) levelOne() string {
+	e := m.expression
+	list := m.one("p", "o", "[3, , 1, 'b', 2]", "[1, 2, 3]", "("+e()+")")
+	callback := m.one("f", "o.f", "print", "print.bind(null, 'x')", "function "+m.body("a, b, c"), e())
+	switch m.IntN(8) {
+	case 0:
+		return "Object." + m.one("getPrototypeOf", "getOwnPropertyNames", "keys", "seal", "freeze", "preventExtensions", "isSealed", "isFrozen", "isExtensible") + "(" + m.one("o", "p", e()) + ")"
+	case 1:
+		return "Object." + m.one("defineProperty", "getOwnPropertyDescriptor") + "(" + m.one("o", "p", e()) + ", " + m.one("'x'", "'length'", "1", e()) + ", {" + m.one("value: "+e(), "get: "+callback, "value: "+e()+", writable: true", "set: "+callback, "writable: false") + m.one("", ", enumerable: "+e(), ", configurable: "+e()) + "})"
+	case 2:
+		return m.one("Object.create(", "Object.defineProperties(") + m.one("o", "p", "null", e()) + m.one("", ", {x: {value: "+e()+"}, y: "+e()+"}", ", "+e()) + ")"
+	case 3:
+		return m.one("Object(", "new Object(", "Array(", "new Array(", "Array.isArray(", "new (f.bind(o))(", "Function(") + m.one("", e(), e()+", "+e()) + ")"
+	case 4:
+		return m.one("f", "o.f", "print", "("+e()+")") + "." + m.one("call(", "apply(", "bind(") + m.one("", "o", e()) + ")"
+	case 5:
+		return m.one("f", "print") + m.one(".call(", ".apply(", ".bind(") + e() + ", " + m.one("p", "[1, 2]", e()) + ")"
+	case 6:
+		return "Array.prototype." + m.one("every", "some", "forEach", "map", "filter", "reduce", "reduceRight", "sort") + ".call(" + list + ", " + callback + m.one("", ", "+e()) + ")"
+	}
+	return list + "." + m.one("toLocaleString", "concat", "pop", "push", "reverse", "shift", "slice", "sort", "splice", "unshift", "indexOf", "lastIndexOf", "hasOwnProperty", "isPrototypeOf", "propertyIsEnumerable") + "(" + m.one("", e(), e()+", "+e(), e()+", "+e()+", "+e()) + ")"
 }
 
 func (m *maker) statement() string {
@@ -198,19 +226,21 @@ func (m *maker) program() string {
 
 // P1, P2: no program panics, and every one does the same again, in a world of its own.
 func TestRandomPrograms(t *testing.T) {
-	m := &maker{Rand: rand.New(rand.NewPCG(19, 6))}
-	how := [5]int{}
-	for range 4000 {
-		src := m.program()
-		r := run(src, 30)
-		if again := run(src, 30); !reflect.DeepEqual(r, again) {
-			t.Fatalf("%s\nfirst %+v\nthen %+v", src, r, again)
+	for l := range level(2) {
+		m := &maker{Rand: rand.New(rand.NewPCG(19, 6)), level: l}
+		how := [5]int{}
+		for range 2500 {
+			src := m.program()
+			r := l.run(src, 30)
+			if again := l.run(src, 30); !reflect.DeepEqual(r, again) {
+				t.Fatalf("%s\nfirst %+v\nthen %+v", src, r, again)
+			}
+			how[r.How]++
+			fewerSteps(t, m, src, r)
 		}
-		how[r.How]++
-		fewerSteps(t, m, src, r)
-	}
-	if how[api.Ended] < 400 || how[api.Thrown] < 400 || how[api.Cut] < 20 || how[api.Early] > 0 {
-		t.Errorf("how they ended: %v", how)
+		if how[api.Ended] < 200 || how[api.Thrown] < 300 || how[api.Cut] < 20 || how[api.Early] > 0 {
+			t.Errorf("level %d: how they ended: %v", l, how)
+		}
 	}
 }
 
@@ -220,14 +250,14 @@ func fewerSteps(t *testing.T, m *maker, src string, r api.Result) {
 		return
 	}
 	steps := m.IntN(r.Steps)
-	cut := run(src, steps)
+	cut := m.level.run(src, steps)
 	if cut.How != api.Cut || cut.Steps != steps || cut.Text != "" || len(cut.Lines) > len(r.Lines) || strings.Join(cut.Lines, "\n") != strings.Join(r.Lines[:len(cut.Lines)], "\n") {
 		t.Fatalf("%s\nwhole %+v\ncut %+v", src, r, cut)
 	}
 	if r.How == api.Cut {
 		return
 	}
-	if just := run(src, r.Steps); !reflect.DeepEqual(just, r) {
+	if just := m.level.run(src, r.Steps); !reflect.DeepEqual(just, r) {
 		t.Fatalf("%s\nwhole %+v\njust %+v", src, r, just)
 	}
 }

@@ -50,6 +50,14 @@ func TestLevelsAndSteps(t *testing.T) {
 			t.Errorf("level %d: %+v", level, r)
 		}
 	}
+	for l, want := range map[level]string{-1 << 62: "undefined", -1: "undefined", 0: "undefined", 1: "function", 2: "function", 3: "function", 4: "function", 1 << 62: "function"} {
+		for _, name := range []string{"Object", "Function", "Array", "print.bind", "{}.constructor", "[].map"} {
+			l.says(t, "print(typeof "+name+")", want)
+		}
+	}
+	if r := ecmacore.Run("print(Object.keys([7]))", api.Limits{Steps: 1}); r.How != api.Ended || r.Lines[0] != "0" {
+		t.Errorf("%+v", r)
+	}
 	for steps, want := range map[int]int{-1 << 62: 0, -1: 0, 0: 0, 1: 1, 7: 7, 1<<20 - 1: 1<<20 - 1, 1 << 20: 1 << 20, 1<<20 + 1: 1 << 20, 1 << 62: 1 << 20} {
 		if r := run("for (;;) ;", steps); r.How != api.Cut || r.Steps != want {
 			t.Errorf("%d steps: %+v", steps, r)
@@ -186,8 +194,21 @@ func TestCollectedInFunctions(t *testing.T) {
 	says(t, "print(1 + +{valueOf: function () { var o = {x: 5}; for (var i = 0; i < 9000; i++) ({x: i}); return o.x }})", "6")
 }
 
-// Examples 7 to 9 of the document, and those of the README.
+// Examples 7 to 10 of the document, and those of the README.
 func TestExamples(t *testing.T) {
+	one.says(t, "var o = {get x() { return this.y }, y: 1}, p = Object.create(o); p.y = 2; print(p.x, Object.keys(p))", "2 y")
+	first := ecmacore.New(1)
+	for _, c := range []struct {
+		src  string
+		want api.Result
+	}{
+		{"var o = Object.create({x: 1}, {y: {value: [3, 1, 2].sort(), enumerable: true}}); print(Object.keys(o), o.x, o.y.map(function (n) { return n * 2 }))", api.Result{Lines: []string{"y 1 2,4,6"}, How: api.Ended, Steps: 16}},
+		{"var p = print.bind(null, 'a'); p.apply(null, Object.freeze([1, 2])); o.y = 5", api.Result{Lines: []string{"a 1 2"}, How: api.Thrown, Text: typeError, Steps: 2}},
+	} {
+		if r := first.Run(c.src, api.Limits{Steps: 100}); !reflect.DeepEqual(r, c.want) {
+			t.Errorf("%s\n got %+v\nwant %+v", c.src, r, c.want)
+		}
+	}
 	says(t, "var a = [1, 2]; a.length = 1; print(a, a[1], typeof zz)", "1 undefined undefined")
 	ends(t,
 		end{src: "function f(n) { return n ? f(n - 1) + 1 : 0 } print(f(100))", steps: 101, lines: []string{"100"}},

@@ -23,16 +23,9 @@ type errorKind struct {
 
 func fillError(m *machine.Machine, name string, prototype *heap.Object) {
 	kind := errorKind{prototype: prototype}
-	f := heap.Of(m.MakeFunction(1, &machine.Function{Call: kind.called, New: kind.made}))
-	set(m, f.Ref, "prototype", heap.Of(prototype), heap.Traits{})
-	set(m, prototype, "constructor", f, usual())
+	setConstructor(m, name, prototype, kind.made)
 	set(m, prototype, "name", heap.String(name), usual())
 	set(m, prototype, "message", heap.String(""), usual())
-	set(m, m.Global, name, f, usual())
-}
-
-func (k errorKind) called(m *machine.Machine, _ heap.Value, args []heap.Value) heap.Value {
-	return k.made(m, args)
 }
 
 func (k errorKind) made(m *machine.Machine, args []heap.Value) heap.Value {

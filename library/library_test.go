@@ -12,9 +12,11 @@ import (
 	"ecmacore/machine"
 )
 
-func filled() *machine.Machine {
+func filled() *machine.Machine { return filledTo(0) }
+
+func filledTo(level int) *machine.Machine {
 	m := machine.New()
-	library.Fill(m)
+	library.Fill(m, level)
 	return m
 }
 

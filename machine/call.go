@@ -37,9 +37,10 @@ func Arg(args []heap.Value, i int) heap.Value {
 	return heap.Value{}
 }
 
-// Call of a function, on a value.
+// Call of a function, on a value. (To call a bound one is to call the other.)
 func (m *Machine) Call(f *heap.Object, this heap.Value, args ...heap.Value) heap.Value {
 	var v heap.Value
+	f, this, args = unbound(f, this, args)
 	m.enter()
 	switch inner := f.Inner.(type) {
 	case *closure:
@@ -66,9 +67,10 @@ func (m *Machine) construct(f heap.Value, args []heap.Value) heap.Value {
 	if !IsFunction(f) {
 		panic(m.TypeError())
 	}
-	switch inner := f.Ref.Inner.(type) {
+	o, _, args := unbound(f.Ref, heap.Value{}, args)
+	switch inner := o.Inner.(type) {
 	case *closure:
-		return m.constructBy(f.Ref, args)
+		return m.constructBy(o, args)
 	case *Function:
 		if inner.New != nil {
 			return m.constructIn(inner, args)

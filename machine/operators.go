@@ -153,7 +153,7 @@ func (m *Machine) isInstance(left, right heap.Value) bool {
 	if left.Kind != api.Object {
 		return false
 	}
-	behind := m.Get(right, prototypeKey())
+	behind := m.Get(heap.Of(target(right.Ref)), prototypeKey())
 	if behind.Kind != api.Object {
 		panic(m.TypeError())
 	}
