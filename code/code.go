@@ -1,7 +1,10 @@
 // Package code: what the machine does, instruction by instruction, and how a program's tree becomes that: see chapter 7.
 package code
 
-import "ecmacore/heap"
+import (
+	"ecmacore/heap"
+	"ecmacore/regex"
+)
 
 // Op is what an instruction does. Most of them take values from the top of the stack, and put there what they give.
 type Op int
@@ -110,7 +113,9 @@ type Instr struct {
 
 // Pattern is one that stands in the program.
 type Pattern struct {
-	Source, Flags string
+	Source   heap.Value // its text
+	Flags    string
+	Compiled *regex.Pattern
 }
 
 // Nowhere is the address behind a finally block that something thrown led to; None, where a variable's number stands: there is no such variable.

@@ -3,6 +3,7 @@ package code
 import (
 	"ecmacore/api"
 	"ecmacore/heap"
+	"ecmacore/regex"
 )
 
 func (c *compiler) expression(n *api.Node) {
@@ -18,8 +19,7 @@ func (c *compiler) expression(n *api.Node) {
 	case api.NString:
 		c.push(heap.String(n.Text))
 	case api.NRegex:
-		c.code.Patterns = append(c.code.Patterns, Pattern{Source: n.Text, Flags: n.Flags})
-		c.add(MakeRegex, len(c.code.Patterns)-1)
+		c.pattern(n)
 	case api.NArray:
 		c.array(n)
 	case api.NObject:
@@ -58,6 +58,13 @@ func (c *compiler) each(l []*api.Node) {
 	for _, n := range l {
 		c.expression(n)
 	}
+}
+
+// pattern: what parse let pass compiles.
+func (c *compiler) pattern(n *api.Node) {
+	compiled, _ := regex.Compile(n.Text, n.Flags)
+	c.code.Patterns = append(c.code.Patterns, Pattern{Source: heap.String(n.Text), Flags: n.Flags, Compiled: compiled})
+	c.add(MakeRegex, len(c.code.Patterns)-1)
 }
 
 func (c *compiler) array(n *api.Node) {

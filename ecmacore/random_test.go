@@ -54,6 +54,9 @@ func (m *maker) expression() string {
 	if m.level > 0 && m.IntN(4) == 0 {
 		return m.levelOne()
 	}
+	if m.level > 1 && m.IntN(3) == 0 {
+		return m.levelTwo()
+	}
 	switch m.IntN(20) {
 	case 0, 1:
 		return m.literal()
@@ -111,6 +114,31 @@ func (m *maker) levelOne() string {
 		return "Array.prototype." + m.one("every", "some", "forEach", "map", "filter", "reduce", "reduceRight", "sort") + ".call(" + list + ", " + callback + m.one("", ", "+e()) + ")"
 	}
 	return list + "." + m.one("toLocaleString", "concat", "pop", "push", "reverse", "shift", "slice", "sort", "splice", "unshift", "indexOf", "lastIndexOf", "hasOwnProperty", "isPrototypeOf", "propertyIsEnumerable") + "(" + m.one("", e(), e()+", "+e(), e()+", "+e()+", "+e()) + ")"
+}
+
+// levelTwo: a call of what level 2 has.
+func (m *maker) levelTwo() string {
+	e := m.expression
+	text := m.one("'abcabc'", "'a1b22 \\ud83d\\ude00'", "'\\u00e9'", "a", "b", "("+e()+")")
+	pattern := m.one("/b/", "/a|b/g", "/(a*)(b)?/g", "/(?:)/gm", "/\\d+/", "/(.)\\1/i", "/^[^a]*$/", "r", "'b'", "''", e())
+	args := m.one("", e(), e()+", "+e())
+	switch m.IntN(8) {
+	case 0:
+		return text + "." + m.one("charAt", "charCodeAt", "concat", "indexOf", "lastIndexOf", "localeCompare", "slice", "substring", "toUpperCase", "toLowerCase", "trim") + "(" + args + ")"
+	case 1:
+		return "String.prototype." + m.one("match", "search", "split", "replace", "slice", "trim", "concat") + ".call(" + m.one("o", "p", e()) + ", " + e() + ")"
+	case 2:
+		return text + "." + m.one("match", "search") + "(" + pattern + ")"
+	case 3:
+		return text + ".replace(" + pattern + ", " + m.one("'<$&$1$$>'", "\"$`$'\"", "f", "o.f", "function "+m.body("a, b, c"), e()) + ")"
+	case 4:
+		return text + ".split(" + pattern + m.one("", ", 2", ", "+e()) + ")"
+	case 5:
+		return "RegExp.prototype." + m.one("exec", "test", "toString") + ".call(" + pattern + ", " + text + ")"
+	case 6:
+		return m.one("String(", "new String(", "Number(", "new Number(", "Boolean(", "new Boolean(", "RegExp(", "new RegExp(", "parseInt(", "parseFloat(", "isNaN(", "isFinite(", "String.fromCharCode(") + args + ")"
+	}
+	return m.one("Math."+m.one("abs", "ceil", "floor", "sqrt", "round", "pow", "max", "min")+"(", "(5.25)."+m.one("toFixed", "toExponential", "toPrecision", "toString", "toLocaleString")+"(") + args + ")"
 }
 
 func (m *maker) statement() string {
@@ -217,7 +245,7 @@ func (m *maker) jump() string {
 
 func (m *maker) program() string {
 	m.deep, m.loops, m.labels, m.function = 0, 0, nil, false
-	src := "var a = " + m.literal() + ", b = " + m.literal() + ", c = " + m.literal() + ", o = {x: print, f: f, get y() { return this.x }, set y(v) { this.x = v }}, p = [1, [2], 'a'], k9; function f" + m.body("a") + " "
+	src := "var a = " + m.literal() + ", b = " + m.literal() + ", c = " + m.literal() + ", o = {x: print, f: f, get y() { return this.x }, set y(v) { this.x = v }}, p = [1, [2], 'a'], r = /(a)|b/g, k9; function f" + m.body("a") + " "
 	for range 1 + m.IntN(5) {
 		src += m.statement() + " "
 	}
@@ -226,7 +254,7 @@ func (m *maker) program() string {
 
 // P1, P2: no program panics, and every one does the same again, in a world of its own.
 func TestRandomPrograms(t *testing.T) {
-	for l := range level(2) {
+	for l := range level(3) {
 		m := &maker{Rand: rand.New(rand.NewPCG(19, 6)), level: l}
 		how := [5]int{}
 		for range 2500 {

@@ -55,6 +55,14 @@ func TestLevelsAndSteps(t *testing.T) {
 			l.says(t, "print(typeof "+name+")", want)
 		}
 	}
+	for l, want := range map[level]string{-1: "undefined", 0: "undefined", 1: "undefined", 2: "function", 3: "function", 4: "function", 1 << 62: "function"} {
+		for _, name := range []string{"String", "Number", "Boolean", "RegExp", "parseInt", "parseFloat", "isNaN", "isFinite", "'a'.charAt", "(5).toFixed", "/a/.exec", "true.constructor"} {
+			if l == 1 && name == "true.constructor" {
+				continue // Object, which stands behind
+			}
+			l.says(t, "print(typeof "+name+")", want)
+		}
+	}
 	if r := ecmacore.Run("print(Object.keys([7]))", api.Limits{Steps: 1}); r.How != api.Ended || r.Lines[0] != "0" {
 		t.Errorf("%+v", r)
 	}
@@ -189,14 +197,22 @@ func TestCollectedInFunctions(t *testing.T) {
 			t.Errorf("%s: %d objects, %+v", src, n, r)
 		}
 	}
+	for _, src := range []string{"/a/.exec('a')", "'aa'.match(/a/g)", "RegExp('a')", "'a,b'.split(',')", "new String('ab')", "'a'.search('a')", "'a'.replace(/a/, function () { return {} })"} {
+		w := ecmacore.New(2)
+		r := w.Run("for (var i = 0; i < 9000; i++) "+src, api.Limits{Steps: many})
+		if n := w.Stats().Live; r.How != api.Ended || n > 5000 {
+			t.Errorf("%s: %d objects, %+v", src, n, r)
+		}
+	}
 	says(t, "function mk(n) { var o = {n: n}; return function () { for (var i = 0; i < 3000; i++) [i]; return o.n } } var l = []; for (var i = 0; i < 20; i++) l[i] = mk(i); var s = ''; for (i = 0; i < 20; i++) s += l[i]() + ' '; print(s)", "0 1 2 3 4 5 6 7 8 9 10 11 12 13 14 15 16 17 18 19 ")
 	says(t, "var s = ''; for (var k in {a: 1, b: 2}) { for (var i = 0; i < 5000; i++) ({x: i}); s += k } print(s)", "ab")
 	says(t, "print(1 + +{valueOf: function () { var o = {x: 5}; for (var i = 0; i < 9000; i++) ({x: i}); return o.x }})", "6")
 }
 
-// Examples 7 to 10 of the document, and those of the README.
+// Examples 7 to 11 of the document, and those of the README.
 func TestExamples(t *testing.T) {
 	one.says(t, "var o = {get x() { return this.y }, y: 1}, p = Object.create(o); p.y = 2; print(p.x, Object.keys(p))", "2 y")
+	two.says(t, "print(\"abc\".replace(/(b)/, \"[$1$&$']\"), \"a1b22\".split(/(\\d+)/), [3, 1, 2].sort())", "a[bbc]c a,1,b,22, 1,2,3")
 	first := ecmacore.New(1)
 	for _, c := range []struct {
 		src  string
@@ -206,6 +222,20 @@ func TestExamples(t *testing.T) {
 		{"var p = print.bind(null, 'a'); p.apply(null, Object.freeze([1, 2])); o.y = 5", api.Result{Lines: []string{"a 1 2"}, How: api.Thrown, Text: typeError, Steps: 2}},
 	} {
 		if r := first.Run(c.src, api.Limits{Steps: 100}); !reflect.DeepEqual(r, c.want) {
+			t.Errorf("%s\n got %+v\nwant %+v", c.src, r, c.want)
+		}
+	}
+	second := ecmacore.New(2)
+	for _, c := range []struct {
+		src   string
+		steps int
+		want  api.Result
+	}{
+		{"var r = /(\\d)(x)?/g; print('a1b22'.replace(r, '<$1>'), 'a1b2'.split(r), 'a1b2'.match(r), r.exec('b2').index)", 100, api.Result{Lines: []string{"a<1>b<2><2> a,1,,b,2,, 1,2 1"}, How: api.Ended, Steps: 59}},
+		{"print(parseInt('ff', 16), (1.005).toFixed(2), Math.max(1, '3'), String.fromCharCode(97)); RegExp('(')", 100, api.Result{Lines: []string{"255 1.00 3 a"}, How: api.Thrown, Text: syntaxError}},
+		{"/(a*)*b/.test('aaaaaaaaaaaaaaaaaaaaaaaa')", 1000, api.Result{How: api.Cut, Steps: 1000}},
+	} {
+		if r := second.Run(c.src, api.Limits{Steps: c.steps}); !reflect.DeepEqual(r, c.want) {
 			t.Errorf("%s\n got %+v\nwant %+v", c.src, r, c.want)
 		}
 	}

@@ -44,14 +44,6 @@ func Of(o *Object) Value { return Value{Kind: api.Object, Ref: o} }
 // Count: of a String: how many units it has.
 func (v Value) Count() int { return int(v.Num) }
 
-// Unit: of a String: the one at a place that it has, as a string.
-func (v Value) Unit(i int) Value {
-	if v.Count() == len(v.Text) { // each byte is one
-		return Counted(v.Text[i:i+1], 1)
-	}
-	return Counted(units.Text([]uint16{units.At(v.Text, i)}), 1)
-}
-
 // Same: as ===, but NaN is the same as NaN, and 0 not as -0.
 func Same(v, w Value) bool {
 	if v.Kind != api.Number || w.Kind != api.Number {

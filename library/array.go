@@ -35,7 +35,7 @@ func (l list) joined(between heap.Value, textOf func(heap.Value) heap.Value) hea
 		if n > 0 {
 			text.Add(l.m, between)
 		}
-		if v := l.get(n); v.Kind != api.Undefined && v.Kind != api.Null {
+		if v := l.get(n); !machine.IsNothing(v) {
 			text.Add(l.m, textOf(v))
 		}
 	}
@@ -156,7 +156,7 @@ func lastIndexOf(m *machine.Machine, this heap.Value, args []heap.Value) heap.Va
 
 // endAt: one more than the place that an argument tells; 0, if that is ahead of the first.
 func (l list) endAt(v heap.Value) uint64 {
-	x, length := num.Int(l.m.Number(v)), float64(l.length)
+	x, length := integer(l.m, v), float64(l.length)
 	if x < 0 {
 		x += length
 	}

@@ -51,7 +51,7 @@ func numberText(m *machine.Machine, this heap.Value, args []heap.Value) heap.Val
 	x := unboxed(m, this, api.Number)
 	base := 10.0
 	if v := machine.Arg(args, 0); v.Kind != api.Undefined {
-		base = num.Int(m.Number(v))
+		base = integer(m, v)
 	}
 	text, err := num.Radix(x.Num, within(base))
 	if err != nil {

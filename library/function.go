@@ -4,7 +4,6 @@ import (
 	"ecmacore/api"
 	"ecmacore/heap"
 	"ecmacore/machine"
-	"ecmacore/num"
 )
 
 func fillFunction(m *machine.Machine) {
@@ -52,6 +51,6 @@ func call(m *machine.Machine, this heap.Value, args []heap.Value) heap.Value {
 func bind(m *machine.Machine, this heap.Value, args []heap.Value) heap.Value {
 	f := needFunction(m, this)
 	others := behind(args, 1)
-	length := within(num.Int(m.Number(get(m, f, "length"))))
+	length := within(integer(m, get(m, f, "length")))
 	return heap.Of(m.Bind(f, max(length-len(others), 0), machine.Arg(args, 0), others))
 }

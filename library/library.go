@@ -1,9 +1,10 @@
-// Package library: the functions that programs find in a world: see chapters 8 and 9. They do things in the order in which the chapters tell them.
+// Package library: the functions that programs find in a world: see chapters 8 to 10. They do things in the order in which the chapters tell them.
 package library
 
 import (
 	"ecmacore/heap"
 	"ecmacore/machine"
+	"ecmacore/num"
 )
 
 // Fill: the global object and the prototypes of a machine get what worlds of a level have.
@@ -19,6 +20,14 @@ func Fill(m *machine.Machine, level int) {
 		completeFunction(m)
 		completeArray(m)
 	}
+	if level >= 2 {
+		completeGlobal(m)
+		completeString(m)
+		completeNumber(m)
+		completeBoolean(m)
+		fillMath(m)
+		completeRegExp(m)
+	}
 }
 
 // callee is what a function of the library does when it is called.
@@ -29,6 +38,11 @@ type maker func(m *machine.Machine, args []heap.Value) heap.Value
 
 func (k maker) called(m *machine.Machine, _ heap.Value, args []heap.Value) heap.Value {
 	return k(m, args)
+}
+
+// boxed is what new does of one that gives a string, a number or a boolean.
+func (k maker) boxed(m *machine.Machine, args []heap.Value) heap.Value {
+	return heap.Of(m.Object(k(m, args)))
 }
 
 // usual: the flags of most of the library's properties.
@@ -44,9 +58,19 @@ func setFunction(m *machine.Machine, o *heap.Object, name string, length int, ca
 	set(m, o, name, heap.Of(f), usual())
 }
 
-// setConstructor: a global one, with its prototype.
+// setConstructor: one that makes no difference between a call and new.
 func setConstructor(m *machine.Machine, name string, prototype *heap.Object, made maker) *heap.Object {
-	f := m.MakeFunction(1, &machine.Function{Call: made.called, New: made})
+	return setMaker(m, name, 1, prototype, &machine.Function{Call: made.called, New: made})
+}
+
+// setBoxer: one that gives a value, and with new an object of it.
+func setBoxer(m *machine.Machine, name string, prototype *heap.Object, made maker) *heap.Object {
+	return setMaker(m, name, 1, prototype, &machine.Function{Call: made.called, New: made.boxed})
+}
+
+// setMaker: a global constructor, with its prototype.
+func setMaker(m *machine.Machine, name string, length int, prototype *heap.Object, made *machine.Function) *heap.Object {
+	f := m.MakeFunction(length, made)
 	set(m, m.Global, name, heap.Of(f), usual())
 	set(m, f, "prototype", heap.Of(prototype), heap.Traits{})
 	set(m, prototype, "constructor", heap.Of(f), usual())
@@ -56,6 +80,9 @@ func setConstructor(m *machine.Machine, name string, prototype *heap.Object, mad
 func get(m *machine.Machine, o *heap.Object, name string) heap.Value {
 	return m.Get(heap.Of(o), heap.Key{Name: name})
 }
+
+// integer: a value as a number, as integer.
+func integer(m *machine.Machine, v heap.Value) float64 { return num.Int(m.Number(v)) }
 
 // needFunction: TypeError, if a value is none.
 func needFunction(m *machine.Machine, v heap.Value) *heap.Object {

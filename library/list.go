@@ -124,8 +124,11 @@ func (l list) moveUp(from, by uint64) {
 }
 
 // from: the place that an argument tells.
-func (l list) from(v heap.Value) uint64 {
-	x, length := num.Int(l.m.Number(v)), float64(l.length)
+func (l list) from(v heap.Value) uint64 { return from(l.m, v, l.length) }
+
+// from: likewise, of anything that is so long.
+func from(m *machine.Machine, v heap.Value, long uint64) uint64 {
+	x, length := integer(m, v), float64(long)
 	if x < 0 {
 		x = max(x+length, 0)
 	}

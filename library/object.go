@@ -40,7 +40,7 @@ func completeObject(m *machine.Machine) {
 
 func makeObject(m *machine.Machine, args []heap.Value) heap.Value {
 	v := machine.Arg(args, 0)
-	if v.Kind == api.Undefined || v.Kind == api.Null {
+	if machine.IsNothing(v) {
 		return heap.Of(newObject(m))
 	}
 	return heap.Of(m.Object(v))

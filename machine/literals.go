@@ -1,8 +1,6 @@
 package machine
 
 import (
-	"strings"
-
 	"ecmacore/code"
 	"ecmacore/heap"
 )
@@ -23,7 +21,8 @@ func (m *Machine) literals(f *frame, in code.Instr) {
 	case code.SetGet, code.SetSet:
 		m.setFunction(in.Op, f.code.Keys[in.Arg])
 	case code.MakeRegex:
-		m.push(heap.Of(m.regex(f.code.Patterns[in.Arg])))
+		p := f.code.Patterns[in.Arg]
+		m.push(heap.Of(m.MakePattern(&Pattern{Source: p.Source, Flags: p.Flags, compiled: p.Compiled})))
 	case code.MakeFunction:
 		m.push(m.makeClosure(f.code.Functions[in.Arg], f.scope))
 	}
@@ -46,16 +45,4 @@ func (m *Machine) setFunction(op code.Op, k heap.Key) {
 		told.HasSet, told.Set = true, f
 	}
 	m.Define(m.top(0).Ref, k, told)
-}
-
-// regex: an object with a pattern.
-func (m *Machine) regex(p code.Pattern) *heap.Object {
-	o := m.Make(RegExpClass, m.Prototypes.RegExp)
-	m.Define(o, heap.Key{Name: "source"}, heap.Whole(heap.String(p.Source), heap.Traits{}))
-	for _, flag := range []string{"global", "ignoreCase", "multiline"} {
-		told := strings.Contains(p.Flags, flag[:1])
-		m.Define(o, heap.Key{Name: flag}, heap.Whole(heap.Boolean(told), heap.Traits{}))
-	}
-	m.Define(o, heap.Key{Name: "lastIndex"}, heap.Whole(heap.Number(0), heap.Traits{Writable: true}))
-	return o
 }

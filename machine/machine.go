@@ -27,6 +27,7 @@ type run struct {
 	steps, most int // how many it took, and may take
 	lines       []string
 	printed     int // what the lines count
+	searched    searched
 }
 
 // New: a machine with the prototypes and an empty global object.

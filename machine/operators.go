@@ -122,8 +122,8 @@ func (m *Machine) compare(op code.Op, left, right heap.Value) bool {
 func (m *Machine) equal(left, right heap.Value) bool {
 	for left.Kind != right.Kind {
 		switch {
-		case isNothing(left) || isNothing(right):
-			return isNothing(left) && isNothing(right)
+		case IsNothing(left) || IsNothing(right):
+			return IsNothing(left) && IsNothing(right)
 		case left.Kind == api.Boolean:
 			left = heap.Number(left.Num)
 		case right.Kind == api.Boolean:

@@ -8,12 +8,13 @@ import (
 
 // solid: TypeError, if a value can have no properties.
 func (m *Machine) solid(v heap.Value) {
-	if isNothing(v) {
+	if IsNothing(v) {
 		panic(m.TypeError())
 	}
 }
 
-func isNothing(v heap.Value) bool { return v.Kind == api.Undefined || v.Kind == api.Null }
+// IsNothing: undefined or null.
+func IsNothing(v heap.Value) bool { return v.Kind == api.Undefined || v.Kind == api.Null }
 
 // first: the object in which a value's properties are looked for.
 func (m *Machine) first(v heap.Value) *heap.Object {

@@ -23,6 +23,9 @@ func (m *Machine) RangeError() Thrown { return m.failure(m.Prototypes.RangeError
 // ReferenceError is another.
 func (m *Machine) ReferenceError() Thrown { return m.failure(m.Prototypes.ReferenceError) }
 
+// SyntaxError is another.
+func (m *Machine) SyntaxError() Thrown { return m.failure(m.Prototypes.SyntaxError) }
+
 func (m *Machine) failure(behind *heap.Object) Thrown {
 	return Thrown{Value: heap.Of(m.Make(ErrorClass, behind))}
 }

@@ -14,7 +14,7 @@ type Text struct {
 
 // Add: a string behind what there is.
 func (t *Text) Add(m *Machine, v heap.Value) {
-	m.fits(t.count + v.Count())
+	m.Fits(t.count + v.Count())
 	t.bytes = units.Append(t.bytes, v.Text)
 	t.count += v.Count()
 }
@@ -25,12 +25,12 @@ func (t *Text) Value() heap.Value { return heap.Counted(string(t.bytes), t.count
 // Join: two strings, one behind the other.
 func (m *Machine) Join(v, w heap.Value) heap.Value {
 	count := v.Count() + w.Count()
-	m.fits(count)
+	m.Fits(count)
 	return heap.Counted(units.Join(v.Text, w.Text), count)
 }
 
-// fits: RangeError, if a string would have too many units.
-func (m *Machine) fits(count int) {
+// Fits: RangeError, if a string would have too many units.
+func (m *Machine) Fits(count int) {
 	if count > api.MaxString {
 		panic(m.RangeError())
 	}

@@ -14,7 +14,7 @@ func (w *walk) Hold(k *heap.Marker) { k.Object(w.object) }
 
 // keysOf a value: those that are enumerable are gathered now; others hide what is behind them, too.
 func (m *Machine) keysOf(v heap.Value) *walk {
-	if isNothing(v) {
+	if IsNothing(v) {
 		return &walk{}
 	}
 	w := &walk{object: m.Object(v)}

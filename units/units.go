@@ -22,6 +22,11 @@ func Units(s string) []uint16 {
 	}
 	l := make([]uint16, 0, len(s))
 	for at := 0; at < len(s); {
+		if c := s[at]; c < utf8.RuneSelf { // most texts have little else
+			l = append(l, uint16(c))
+			at++
+			continue
+		}
 		r, n := pointAt(s[at:])
 		l = appendUnits(l, r)
 		at += n
