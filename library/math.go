@@ -35,12 +35,8 @@ func ofNumber(f func(float64) float64) callee {
 	}
 }
 
-// round: half of one more would not do, as that sum is rounded itself.
+// round: the floor of half of one more would not do, as that sum is rounded itself; what is left above the floor is not, or not across a half.
 func round(x float64) float64 {
-	const whole = 1 << 52 // from here on there is nothing behind the point
-	if x == 0 || !(math.Abs(x) < whole) {
-		return x
-	}
 	r := math.Floor(x)
 	if x-r >= 0.5 {
 		r++
