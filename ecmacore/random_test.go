@@ -57,6 +57,9 @@ func (m *maker) expression() string {
 	if m.level > 1 && m.IntN(3) == 0 {
 		return m.levelTwo()
 	}
+	if m.level > 2 && m.IntN(3) == 0 {
+		return m.levelThree()
+	}
 	switch m.IntN(20) {
 	case 0, 1:
 		return m.literal()
@@ -139,6 +142,17 @@ func (m *maker) levelTwo() string {
 		return m.one("String(", "new String(", "Number(", "new Number(", "Boolean(", "new Boolean(", "RegExp(", "new RegExp(", "parseInt(", "parseFloat(", "isNaN(", "isFinite(", "String.fromCharCode(") + args + ")"
 	}
 	return m.one("Math."+m.one("abs", "ceil", "floor", "sqrt", "round", "pow", "max", "min")+"(", "(5.25)."+m.one("toFixed", "toExponential", "toPrecision", "toString", "toLocaleString")+"(") + args + ")"
+}
+
+// levelThree: a call of what level 3 has.
+func (m *maker) levelThree() string {
+	e := m.expression
+	callback := m.one("f", "o.f", "print", "function "+m.body("a, b"), "function (k, v) { return v }", e())
+	if m.IntN(2) == 0 {
+		return "JSON.parse(" + m.one("'[1, [2, \"a\"], {\"x\": null}]'", "'{\"x\": {\"y\": [true]}, \"1\": -1.5e1}'", "' 5 '", "'[1, 2'", "JSON.stringify("+e()+")", e()) + m.one("", ", "+callback) + ")"
+	}
+	value := m.one("o", "p", "[1, [o, p], 'a']", "({a: p, toJSON: f})", "({x: "+e()+", y: "+e()+"})", e())
+	return "JSON.stringify(" + value + m.one("", ", "+callback, ", ['x', 1, 'y']", ", "+e()) + m.one("", ", 2", ", "+e()) + ")"
 }
 
 func (m *maker) statement() string {
@@ -254,10 +268,10 @@ func (m *maker) program() string {
 
 // P1, P2: no program panics, and every one does the same again, in a world of its own.
 func TestRandomPrograms(t *testing.T) {
-	for l := range level(3) {
+	for l := range level(4) {
 		m := &maker{Rand: rand.New(rand.NewPCG(19, 6)), level: l}
 		how := [5]int{}
-		for range 2500 {
+		for range 1500 {
 			src := m.program()
 			r := l.run(src, 30)
 			if again := l.run(src, 30); !reflect.DeepEqual(r, again) {
@@ -266,7 +280,7 @@ func TestRandomPrograms(t *testing.T) {
 			how[r.How]++
 			fewerSteps(t, m, src, r)
 		}
-		if how[api.Ended] < 200 || how[api.Thrown] < 300 || how[api.Cut] < 20 || how[api.Early] > 0 {
+		if how[api.Ended] < 120 || how[api.Thrown] < 180 || how[api.Cut] < 12 || how[api.Early] > 0 {
 			t.Errorf("level %d: how they ended: %v", l, how)
 		}
 	}

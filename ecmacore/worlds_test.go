@@ -63,6 +63,12 @@ func TestLevelsAndSteps(t *testing.T) {
 			l.says(t, "print(typeof "+name+")", want)
 		}
 	}
+	for l, want := range map[level]string{-1: "undefined", 0: "undefined", 1: "undefined", 2: "undefined", 3: "object", 4: "object", 1 << 62: "object"} {
+		l.says(t, "print(typeof JSON)", want)
+	}
+	if r := ecmacore.Run("print(JSON.stringify(JSON.parse('[7]')))", api.Limits{Steps: 2}); r.How != api.Ended || r.Lines[0] != "[7]" {
+		t.Errorf("%+v", r)
+	}
 	if r := ecmacore.Run("print(Object.keys([7]))", api.Limits{Steps: 1}); r.How != api.Ended || r.Lines[0] != "0" {
 		t.Errorf("%+v", r)
 	}
@@ -236,6 +242,21 @@ func TestExamples(t *testing.T) {
 		{"/(a*)*b/.test('aaaaaaaaaaaaaaaaaaaaaaaa')", 1000, api.Result{How: api.Cut, Steps: 1000}},
 	} {
 		if r := second.Run(c.src, api.Limits{Steps: c.steps}); !reflect.DeepEqual(r, c.want) {
+			t.Errorf("%s\n got %+v\nwant %+v", c.src, r, c.want)
+		}
+	}
+	three.says(t, `print(JSON.stringify({a: [1, undefined, "\u0001"], b: function () {}}), JSON.parse("[1, {}]"))`, `{"a":[1,null,"\u0001"]} 1,[object Object]`)
+	third := ecmacore.New(3)
+	for _, c := range []struct {
+		src   string
+		steps int
+		want  api.Result
+	}{
+		{"var v = JSON.parse('{\"a\": [1, 2], \"b\": null}', function (k, v) { return v === 2 ? undefined : v }); print(JSON.stringify(v), JSON.stringify(v, ['b'], '-'))", 100, api.Result{Lines: []string{"{\"a\":[1,null],\"b\":null} {\n-\"b\": null\n}"}, How: api.Ended, Steps: 17}},
+		{"v.v = v; JSON.stringify(v)", 100, api.Result{How: api.Thrown, Text: typeError, Steps: 6}},
+		{"JSON.parse('[1,]')", 100, api.Result{How: api.Thrown, Text: syntaxError}},
+	} {
+		if r := third.Run(c.src, api.Limits{Steps: c.steps}); !reflect.DeepEqual(r, c.want) {
 			t.Errorf("%s\n got %+v\nwant %+v", c.src, r, c.want)
 		}
 	}

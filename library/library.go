@@ -28,6 +28,9 @@ func Fill(m *machine.Machine, level int) {
 		fillMath(m)
 		completeRegExp(m)
 	}
+	if level >= 3 {
+		fillJSON(m)
+	}
 }
 
 // callee is what a function of the library does when it is called.
