@@ -50,11 +50,11 @@ const (
 
 	Solid       // [object -> object] TypeError, if it is undefined or null
 	Place       // [object key -> object key] likewise; then the key is no object any more
-	ReadDot     // [object -> value] the key Arg
+	ReadDot     // [object -> value] the dot Arg
 	ReadIndex   // [object key -> value]
-	MethodDot   // [object -> object value] the key Arg
+	MethodDot   // [object -> object value] the dot Arg
 	MethodIndex // [object key -> object value]
-	WriteDot    // [object value -> value] the key Arg
+	WriteDot    // [object value -> value] the dot Arg
 	WriteIndex  // [object key value -> value]
 	DeleteDot   // [object -> true] the key Arg
 	DeleteIndex // [object key -> true]
@@ -141,7 +141,8 @@ type Hoisted struct {
 type Code struct {
 	Instrs    []Instr
 	Values    []heap.Value // those that are pushed
-	Keys      []heap.Key   // names, and keys behind a point and in { }
+	Keys      []heap.Key   // names, and keys in { } and of what is deleted
+	Dots      []heap.Dot   // each place where a property is read or written by its name, which remembers what it met
 	Patterns  []Pattern
 	Functions []*Code   // those that are made in it
 	Guards    []Guard   // those that lie within others first
@@ -153,6 +154,21 @@ type Code struct {
 	Variables int // how many in all
 	Self      int // the variable that is the function itself, or None
 	Arguments int // the variable arguments, or None
+
+	met int // the collector's mark
+}
+
+// Hold: what its dots remember, and those of the functions that can be made in it. Many functions may have one code: once is enough.
+func (c *Code) Hold(k *heap.Marker) {
+	if !k.First(&c.met) {
+		return
+	}
+	for i := range c.Dots {
+		c.Dots[i].Hold(k)
+	}
+	for _, f := range c.Functions {
+		f.Hold(k)
+	}
 }
 
 // GuardOf: what catches what the instruction there throws.

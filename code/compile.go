@@ -61,5 +61,11 @@ func (c *compiler) withKey(op Op, text string) {
 	c.add(op, len(c.code.Keys)-1)
 }
 
+// withDot: each has one of its own, so that it remembers nothing of what others met.
+func (c *compiler) withDot(op Op, name string) {
+	c.code.Dots = append(c.code.Dots, heap.Dot{Name: name, Writes: op == WriteDot})
+	c.add(op, len(c.code.Dots)-1)
+}
+
 // isNone: whether nothing stands there.
 func isNone(n *api.Node) bool { return n.Kind == api.NNone }

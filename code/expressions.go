@@ -93,7 +93,7 @@ func (c *compiler) call(n *api.Node) {
 	switch called.Kind {
 	case api.NDot:
 		c.each(called.Kids)
-		c.withKey(MethodDot, called.Text)
+		c.withDot(MethodDot, called.Text)
 	case api.NIndex:
 		c.each(called.Kids)
 		c.add(MethodIndex, 0)

@@ -22,7 +22,7 @@ func (c *compiler) place(n *api.Node) {
 func (c *compiler) read(n *api.Node) {
 	switch n.Kind {
 	case api.NDot:
-		c.withKey(ReadDot, n.Text)
+		c.withDot(ReadDot, n.Text)
 	case api.NIndex:
 		c.add(ReadIndex, 0)
 	default:
@@ -46,7 +46,7 @@ func (c *compiler) placeAndValue(n *api.Node) {
 func (c *compiler) write(n *api.Node) {
 	switch n.Kind {
 	case api.NDot:
-		c.withKey(WriteDot, n.Text)
+		c.withDot(WriteDot, n.Text)
 	case api.NIndex:
 		c.add(WriteIndex, 0)
 	default:

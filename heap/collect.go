@@ -7,8 +7,10 @@ type Holder interface {
 
 // Marker is told what is held, and so what is kept.
 type Marker struct {
-	work  []*Object // met, but not gone through
-	round int       // which collection it is
+	work   []*Object // met, but not gone through
+	round  int       // which collection it is
+	seen   int       // how often it was told something
+	shapes bool      // whether shapes are collected, too
 }
 
 // First: whether this mark is met for the first time in this collection. So what many hold can be gone through once.
@@ -20,6 +22,7 @@ func (m *Marker) First(mark *int) bool {
 
 // Object is held (nil: none is).
 func (m *Marker) Object(o *Object) {
+	m.seen++
 	if o != nil && !o.kept {
 		o.kept = true
 		m.work = append(m.work, o)
@@ -31,6 +34,9 @@ func (m *Marker) Value(v Value) { m.Object(v.Ref) }
 
 // Shape is held: objects that take its steps again come to it, and to no other.
 func (m *Marker) Shape(s *Shape) {
+	if !m.shapes {
+		return
+	}
 	for ; s != nil && !s.kept && !s.alone; s = s.from {
 		s.kept = true
 		s.names.kept = max(s.names.kept, s.count)
@@ -40,16 +46,23 @@ func (m *Marker) Shape(s *Shape) {
 // Collect: objects that cannot be reached from the roots are gone; how many.
 func (h *Heap) Collect(roots Holder) int {
 	h.rounds++
-	m := &Marker{round: h.rounds}
+	m := &Marker{round: h.rounds, shapes: h.lost >= h.shapes/8}
 	roots.Hold(m)
 	for len(m.work) > 0 {
 		o := m.work[len(m.work)-1]
 		m.work = m.work[:len(m.work)-1]
 		m.through(o)
 	}
-	h.first.sweep()
-	return h.sweep()
+	h.effort = m.seen
+	gone := h.sweep()
+	if m.shapes {
+		h.shapes, h.lost = h.first.sweep(), 0
+	}
+	return gone
 }
+
+// Effort of the last collection: how much it had to look at.
+func (h *Heap) Effort() int { return h.effort }
 
 func (m *Marker) through(o *Object) {
 	m.Object(o.Proto)
@@ -80,6 +93,8 @@ func (h *Heap) sweep() int {
 		if o.kept {
 			o.kept = false
 			rest = append(rest, o)
+		} else {
+			h.lost += 1 + len(o.named)
 		}
 	}
 	gone := len(h.objects) - len(rest)
@@ -88,13 +103,15 @@ func (h *Heap) sweep() int {
 	return gone
 }
 
-// sweep lets go the shapes that no object has or can come by, and their names.
-func (s *Shape) sweep() {
+// sweep lets go the shapes that no object has or can come by, and their names; how many are left.
+func (s *Shape) sweep() int {
+	left := 0
 	work := []*Shape{s}
 	for len(work) > 0 {
 		s := work[len(work)-1]
 		work = work[:len(work)-1]
 		s.kept = false
+		left++
 		if s.count == s.names.kept { // of those that share the names, the last
 			s.names.cut(s.count)
 			s.names.kept = 0
@@ -107,4 +124,5 @@ func (s *Shape) sweep() {
 			}
 		}
 	}
+	return left
 }

@@ -13,7 +13,10 @@ type Heap struct {
 	objects []*Object // by their numbers, rising
 	made    int       // how many were ever made: none gets a number that another had
 	rounds  int       // how often was collected
+	effort  int       // of the last time
 	first   *Shape    // of objects to which no name came
+	shapes  int       // how many were left when shapes were collected last
+	lost    int       // how many may have become free since then: shapes are gone through when it pays
 }
 
 // New: without objects.

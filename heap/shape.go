@@ -33,6 +33,11 @@ func (s *Shape) find(name string) (int, bool) {
 	return i, has && i < s.count
 }
 
+// stands: whether a name stands there.
+func (s *Shape) stands(name string, at int) bool {
+	return at < s.count && s.names.list[at] == name && (!s.alone || s.names.has(at))
+}
+
 // after: the shape that follows by a step.
 func (s *Shape) after(step Step) *Shape {
 	if s.alone {

@@ -35,7 +35,7 @@ func TestLevelThree(t *testing.T) {
 				t.Errorf("%s: %s", k.Text(), written(f))
 			}
 		}
-		if got, want := m.Live(), lower.Live()+3; got != want {
+		if got, want := m.Stats().Live, lower.Stats().Live+3; got != want {
 			t.Errorf("%d objects, want %d", got, want)
 		}
 	}

@@ -12,8 +12,11 @@ type closure struct {
 	scope *scope
 }
 
-// Hold: it keeps its scope.
-func (c *closure) Hold(k *heap.Marker) { c.scope.Hold(k) }
+// Hold: it keeps its scope, and what its code remembers.
+func (c *closure) Hold(k *heap.Marker) {
+	c.code.Hold(k)
+	c.scope.Hold(k)
+}
 
 // makeClosure: a new object that is a function of the program's.
 func (m *Machine) makeClosure(c *code.Code, s *scope) heap.Value {
@@ -29,7 +32,7 @@ func prototypeKey() heap.Key { return heap.Key{Name: "prototype"} }
 
 // perform: the function o, which is that closure, is called.
 func (m *Machine) perform(o *heap.Object, c *closure, this heap.Value, args []heap.Value) heap.Value {
-	m.Step()
+	m.ownStep()
 	s := &scope{outer: c.scope, variables: make([]heap.Value, c.code.Variables)}
 	m.fill(s, heap.Of(o), c.code, args)
 	return m.complete(&frame{code: c.code, this: this, scope: s})

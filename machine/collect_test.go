@@ -4,6 +4,7 @@ import (
 	"testing"
 
 	"ecmacore/api"
+	"ecmacore/code"
 	"ecmacore/heap"
 )
 
@@ -99,7 +100,8 @@ func TestScopeOnce(t *testing.T) {
 	m := New()
 	a, b := m.Make(heap.Array, nil), m.Make(heap.Array, nil)
 	s.variables[0], s.outer.variables[0] = heap.Of(a), heap.Of(b)
-	m.frame = &frame{scope: s, outer: &frame{scope: s.outer}}
+	c := &code.Code{}
+	m.frame = &frame{code: c, scope: s, outer: &frame{code: c, scope: s.outer}}
 	for range 3 {
 		if n := kept(m, heap.Array); n != 3 {
 			t.Errorf("%d Arrays", n)

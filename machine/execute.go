@@ -18,8 +18,8 @@ func (m *Machine) execute(f *frame) {
 			f.gives = m.pop()
 			return
 		case in.Op == code.Step:
-			m.Step()
-			m.collectIfMany()
+			m.ownStep()
+			m.collectIfDue()
 		case in.Op == code.Throw:
 			panic(Thrown{Value: m.pop()})
 		case in.Op <= code.JumpCase:
@@ -92,15 +92,15 @@ func (m *Machine) members(f *frame, in code.Instr) {
 		m.solid(m.top(1))
 		m.replace(1, m.plainKey(m.top(0)))
 	case code.ReadDot:
-		m.replace(1, m.Get(m.top(0), f.code.Keys[in.Arg]))
+		m.replace(1, m.readDot(&f.code.Dots[in.Arg], m.top(0)))
 	case code.MethodDot:
-		m.push(m.Get(m.top(0), f.code.Keys[in.Arg]))
+		m.push(m.readDot(&f.code.Dots[in.Arg], m.top(0)))
 	case code.ReadIndex:
 		m.replace(2, m.atIndex())
 	case code.MethodIndex:
 		m.replace(1, m.atIndex())
 	case code.WriteDot:
-		m.Put(m.top(1), f.code.Keys[in.Arg], m.top(0))
+		m.writeDot(&f.code.Dots[in.Arg], m.top(1), m.top(0))
 		m.replace(2, m.top(0))
 	case code.WriteIndex:
 		m.Put(m.top(2), m.Key(m.top(1)), m.top(0))

@@ -20,8 +20,9 @@ type frame struct {
 	values, calls, shut int // what the machine had when it began
 }
 
-// Hold: what its code can reach.
+// Hold: what its code can reach, and remembers.
 func (f *frame) Hold(k *heap.Marker) {
+	f.code.Hold(k)
 	k.Value(f.this)
 	f.scope.Hold(k)
 	for _, w := range f.walks {
@@ -33,7 +34,7 @@ func (f *frame) Hold(k *heap.Marker) {
 func (m *Machine) complete(f *frame) heap.Value {
 	f.outer, f.values, f.calls, f.shut = m.frame, len(m.stack), m.calls, m.shut
 	m.frame = f
-	m.collectIfMany()
+	m.collectIfDue()
 	if len(f.code.Guards) == 0 {
 		m.execute(f)
 	} else {

@@ -14,11 +14,11 @@ type Machine struct {
 	Global     *heap.Object
 
 	heap  *heap.Heap
-	bound int // of objects: when there are more, those that cannot be reached are collected
 	stack []heap.Value
 	frame *frame // the innermost
 	calls int    // how many are being done
 	shut  int    // how many functions of the library and conversions are being done, which hold objects that the collector does not know of
+	tally
 	run
 }
 
@@ -41,35 +41,6 @@ func New() *Machine {
 // Make: a new object.
 func (m *Machine) Make(class string, behind *heap.Object) *heap.Object {
 	return m.heap.Make(class, behind)
-}
-
-// Hold: the roots: what programs can reach without going through objects.
-func (m *Machine) Hold(k *heap.Marker) {
-	k.Object(m.Global)
-	for _, o := range m.Prototypes.all() {
-		k.Object(o)
-	}
-	for _, v := range m.stack {
-		k.Value(v)
-	}
-	for f := m.frame; f != nil; f = f.outer {
-		f.Hold(k)
-	}
-}
-
-// Collect: objects that cannot be reached are gone; how many.
-func (m *Machine) Collect() int { return m.heap.Collect(m) }
-
-// Live: how many objects there are.
-func (m *Machine) Live() int { return m.heap.Live() }
-
-// collectIfMany: so seldom that going through all objects costs no more than making them.
-func (m *Machine) collectIfMany() {
-	if m.shut > 0 || m.Live() <= m.bound {
-		return
-	}
-	m.Collect()
-	m.bound = m.Live() + m.Live()/2 + 3000
 }
 
 // Step: the run takes one; it ends, if there is none.

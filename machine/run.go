@@ -64,6 +64,7 @@ func (m *Machine) ended(end any) api.Result {
 		panic(end)
 	}
 	m.run, m.stack, m.frame, m.calls, m.shut = run{}, nil, nil, 0, 0
+	m.collectIfDue()
 	return r
 }
 
