@@ -80,3 +80,35 @@ func TestDeclared(t *testing.T) {
 		t.Errorf("declared %q", got)
 	}
 }
+
+// P123: each place where a property is read or written by its name has a dot of its own; what is deleted, and an Index, has none.
+func TestDots(t *testing.T) {
+	c := compiled(t, "a.b.c = d.e(f.g); h.i += 1; --j.k; l.m++; for (n.o in p.q) r['s']; delete t.u.v; new w.x; typeof y.z; ({a: 1, get b() { return this.not }})")
+	var reads, writes []string
+	for _, d := range c.Dots {
+		if d.Writes {
+			writes = append(writes, d.Name)
+		} else {
+			reads = append(reads, d.Name)
+		}
+	}
+	if !slices.Equal(reads, []string{"b", "e", "g", "i", "k", "m", "q", "u", "x", "z"}) || !slices.Equal(writes, []string{"c", "i", "k", "m", "o"}) {
+		t.Errorf("reads %q, writes %q", reads, writes)
+	}
+	met := map[int]int{}
+	for _, in := range c.Instrs {
+		switch in.Op {
+		case code.ReadDot, code.MethodDot, code.WriteDot:
+			met[in.Arg]++
+			if c.Dots[in.Arg].Writes != (in.Op == code.WriteDot) {
+				t.Errorf("dot %d", in.Arg)
+			}
+		}
+	}
+	if len(met) != len(c.Dots) {
+		t.Errorf("%d dots for %d places", len(met), len(c.Dots))
+	}
+	if inner := c.Functions[0].Dots; len(inner) != 1 || inner[0].Name != "not" {
+		t.Errorf("%+v", inner)
+	}
+}

@@ -7,6 +7,7 @@ import (
 
 	"ecmacore/api"
 	"ecmacore/ecmacore"
+	"ecmacore/parse"
 )
 
 const many = 100000 // steps
@@ -95,6 +96,29 @@ func ends(t *testing.T, cases ...end) {
 func fails(t *testing.T, text string, sources ...string) {
 	t.Helper()
 	level(0).fails(t, text, sources...)
+}
+
+// turned: a program, each node of which was changed: those within others behind them.
+func turned(t *testing.T, src string, turn func(n *api.Node)) string {
+	t.Helper()
+	n, err := parse.Program(src)
+	if err != nil {
+		t.Fatal(src, err)
+	}
+	var each func(n *api.Node)
+	each = func(n *api.Node) {
+		kids := n.Kids
+		turn(n)
+		for _, k := range kids {
+			each(k)
+		}
+	}
+	each(n)
+	text, err := parse.Text(n)
+	if err != nil {
+		t.Fatal(src, err)
+	}
+	return text
 }
 
 // of: a string of so many units, as an expression.
