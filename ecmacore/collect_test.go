@@ -239,6 +239,7 @@ func TestNeverMany(t *testing.T) {
 		{"", "var keep = 0; for (var i = 0; i < 20000; i++) keep = {next: keep}"},
 		{"function f() { var a = []; return function () { return a } }", "for (var i = 0; i < 4000; i++) f()"},
 		{"function F(x) { this.x = x }", "for (var i = 0; i < 9000; i++) new F({})"},
+		{"function f(n) { [{}]; if (n) f(n - 1), f(n - 1) }", "f(12)"},
 		{"function f(n) { return n ? [f(n - 1)] : [] }", "for (var i = 0; i < 300; i++) f(40)"},
 		{"", "for (var i = 0; i < 9000; i++) try { null.x } catch (e) { }"},
 		{"", "for (var i = 0; i < 9000; i++) for (var k in 'a') /a/"},
@@ -429,5 +430,18 @@ func TestCollectUnseenAtRandom(t *testing.T) {
 		if ended < 50 || gone < 100000 {
 			t.Errorf("level %d: %d ended, %d are gone", l, ended, gone)
 		}
+	}
+}
+
+// Example 13, and what README.md tells of it.
+func TestStatsOfExample(t *testing.T) {
+	w := ecmacore.New(0)
+	r := w.Run("for (var i = 0; i < 5000; i++) { var o = {x: i}; o.x }", api.Limits{Steps: 5000})
+	s := w.Stats()
+	if r.How != api.Ended || s.Hits != 4999 || s.Misses != 1 || s.Peak >= 4000 || s.Live+s.Gone != 31+5000 {
+		t.Errorf("%+v, %+v", r, s)
+	}
+	if n := w.Collect(); n != s.Live-32 || w.Stats().Live != 32 || w.Stats().Gone != s.Gone || w.Collect() != 0 {
+		t.Errorf("%d are gone: %+v", n, w.Stats())
 	}
 }

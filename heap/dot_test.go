@@ -90,6 +90,27 @@ func TestDotBehind(t *testing.T) {
 	}
 }
 
+// What stands behind can come to stand elsewhere there, with another where it stood.
+func TestDotMoved(t *testing.T) {
+	h := New()
+	behind := h.Make("Object", nil)
+	for i := range 30 {
+		put(t, behind, fmt.Sprint("k", i), number(float64(i)))
+	}
+	d := &Dot{Name: "k29"}
+	finds(t, "the first", d, of(t, h, behind), false)
+	for i := range 29 {
+		if err := behind.Delete(Key{Name: fmt.Sprint("k", i)}); err != nil {
+			t.Error(err)
+		}
+	}
+	for i := range 50 {
+		put(t, behind, fmt.Sprint("new", i), number(-1))
+	}
+	finds(t, "it moved", d, of(t, h, behind), false)
+	finds(t, "it stays", d, of(t, h, behind), true)
+}
+
 // What a dot remembers is known when all objects that it met are gone; and it holds none of them.
 func TestDotHolds(t *testing.T) {
 	h := New()
@@ -210,9 +231,9 @@ func TestShapesSeldom(t *testing.T) {
 		put(t, keep, fmt.Sprint("k", i), number(1))
 	}
 	h.Collect(holds{objects: []*Object{keep}})
-	for range 20 {
+	for round := range 20 {
 		for i := range 100 {
-			of(t, h, nil, fmt.Sprint("free", i))
+			of(t, h, nil, fmt.Sprint("free", round, "of", i))
 		}
 		h.Collect(holds{objects: []*Object{keep}})
 		if n := len(h.first.next); n > 201 {
