@@ -44,6 +44,7 @@ func TestObjectsCount(t *testing.T) {
 		{0, "({get x() { return 1 }})", 3, 0}, {0, "var a = {get x() { return 1 }, set x(v) { }}", 5, 5},
 		{0, "try { null.x } catch (e) { }", 1, 0}, {0, "try { zz } catch (e) { var f = function () { return e } }", 3, 3}, {0, "try { throw {a: {}} } catch (e) { var a = e.a }", 2, 1}, {0, "new Error", 1, 0}, {0, "var e = TypeError('m')", 1, 1},
 		{0, "for (var k in 'ab') ;", 1, 0}, {0, "for (var k in null) ;", 0, 0}, {0, "for (var k in {a: 1}) ;", 1, 0}, {0, "delete 'a'.x", 1, 0}, {0, "delete (5)[0]", 1, 0},
+		{0, "var a = []; a[5000] = {}; a[1 << 30] = [{}]", 4, 4}, {0, "var a = []; a[5000] = {}; a.length = 5000", 2, 1}, {0, "var a = {5: {}, 7: {get 8() { return a }}}; delete a[5]", 5, 4}, {1, "var a = Object.defineProperty([1], 0, {value: {}, writable: false, get enumerable() { }})", 5, 2}, {1, "var a = Object.freeze([{}, [{}]])", 4, 4}, {1, "var a = Object.create({}, {3: {get: function () { }}, 4: {set: function () { }}})", 9, 6},
 		{0, "var a = {}; a.a = a; a = 0", 1, 0}, {0, "var a = {b: {}}; a.b.a = a; a = a.b", 2, 2}, {0, "var a = {b: {}}; delete a.b", 2, 1}, {0, "this.a = {}; Error.x = {}; Error.prototype.x = [{}]; print.y = {}", 5, 5},
 		{0, "print({}.toString(), {} + [], [{}, 1].join())", 5, 0}, {0, "({}).valueOf.call", 1, 0}, {0, "var v = {}.valueOf, a; a = {v: v}; a.v()", 2, 1},
 		{1, "Object(5)", 1, 0}, {1, "var a = Object('a')", 1, 1}, {1, "Object({}); new Object; Object(null)", 3, 0}, {1, "Object.keys({a: 1})", 2, 0}, {1, "Object.create({a: {}})", 3, 0}, {1, "var o = Object.create({a: {}})", 3, 3}, {1, "Object.getOwnPropertyDescriptor({a: 1}, 'a')", 2, 0}, {1, "Object.defineProperty([], 'x', {value: {}})", 3, 0},
@@ -244,6 +245,7 @@ func TestNeverMany(t *testing.T) {
 		{"", "for (var i = 0; i < 9000; i++) try { null.x } catch (e) { }"},
 		{"", "for (var i = 0; i < 9000; i++) for (var k in 'a') /a/"},
 		{"var keep = []; for (var i = 0; i < 20000; i++) keep[i] = {}", "keep[0] = 0; for (var i = 0; i < 50000; i++) ({})"},
+		{"var keep = []; for (var i = 0; i < 20000; i++) keep[i] = [1, 2, 3, 4, 5, 6, 7, 8, 9, 10, 11, 12, 13, 14, 15, 16, 17, 18, 19, 20]", "for (var i = 0; i < 50000; i++) ({})"}, // to go through those that stay takes long
 	} {
 		w := ecmacore.New(0)
 		does(t, w, c.before)

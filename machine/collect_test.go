@@ -112,3 +112,33 @@ func TestScopeOnce(t *testing.T) {
 		t.Errorf("%d Arrays", n)
 	}
 }
+
+// rounds counts how often the collector came by.
+type rounds int
+
+func (r *rounds) Hold(*heap.Marker) { *r++ }
+
+// It is collected now and then, but not so often that to go through all objects takes long beside what the program does.
+func TestSeldom(t *testing.T) {
+	const keep = "var keep = []; for (var i = 0; i < 6000; i++) keep[i] = {}; "
+	for _, c := range []struct {
+		src         string
+		least, most int
+	}{
+		{"for (var i = 0; i < 2000; i++) ({})", 0, 0},
+		{"for (var i = 0; i < 20000; i++) ;", 0, 0},
+		{"for (var i = 0; i < 20000; i++) ({})", 6, 9},
+		{keep, 2, 6},
+		{keep + "for (var i = 0; i < 20000; i++) ;", 3, 15},
+		{keep + "for (var i = 0; i < 20000; i++) ({})", 5, 25},
+		{keep + "keep = 0; for (var i = 0; i < 20000; i++) ;", 3, 7},
+	} {
+		var r rounds
+		m := New()
+		m.Global.Inner = &r
+		m.Run(compiled(t, c.src), 1<<20)
+		if n := int(r); n < c.least || n > c.most {
+			t.Errorf("%s: collected %d times, want %d to %d", c.src, n, c.least, c.most)
+		}
+	}
+}
